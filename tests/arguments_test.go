@@ -19,6 +19,11 @@ var functions = map[string]any{
 	"ChanceOfRun": impl.ChanceOfRun, "MeanUntil": impl.MeanUntil, "MeanWets": impl.MeanWets, "LikeliestDays": impl.LikeliestDays,
 	"RunsOf": impl.RunsOf, "CountChanges": impl.CountChanges, "ChainOfDays": impl.ChainOfDays, "TurnChain": impl.TurnChain,
 	"IsEven": impl.IsEven, "ChainText": impl.ChainText, "ParseChain": impl.ParseChain,
+	"AreStates": impl.AreStates, "ChanceOfStep": impl.ChanceOfStep, "StatesAfter": impl.StatesAfter, "ReachedStates": impl.ReachedStates,
+	"StateClasses": impl.StateClasses, "IsOneClass": impl.IsOneClass, "LastingStates": impl.LastingStates, "EndStates": impl.EndStates,
+	"PeriodOfState": impl.PeriodOfState, "MeanUntilState": impl.MeanUntilState, "ChanceToVisit": impl.ChanceToVisit, "ChanceToEnd": impl.ChanceToEnd,
+	"SharesOfStates": impl.SharesOfStates, "CountWays": impl.CountWays, "FirstWay": impl.FirstWay, "RenameStates": impl.RenameStates,
+	"StatesOfChain": impl.StatesOfChain, "StatesText": impl.StatesText, "ParseStates": impl.ParseStates,
 }
 
 var badChains = []impl.Chain{
@@ -36,6 +41,37 @@ var badDays = []string{
 // badDay are what is no day, though it may be days.
 var badDay = append(slices.Clone(badDays), "dd", "dw", "ww", "ddwwwd", strings.Repeat("d", impl.MaxSeen))
 
+// badStates are made anew each time, so that no test can spoil another one.
+func badStates() []impl.States {
+	list := []impl.States{
+		{}, {Of: 1}, {Of: 1, Rows: [][]int{}}, {Of: 1, Rows: [][]int{nil}}, {Of: 1, Rows: [][]int{{}}}, {Rows: [][]int{{0}}}, {Rows: [][]int{{1}}},
+		{Of: 1, Rows: [][]int{{2}}}, {Of: 2, Rows: [][]int{{1}}}, {Of: 11, Rows: [][]int{{11}}}, {Of: -1, Rows: [][]int{{-1}}}, {Of: 1, Rows: [][]int{{1}, {1}}},
+		{Of: 2, Rows: [][]int{{1, 1}}}, {Of: 2, Rows: [][]int{{1, 1}, nil}}, {Of: 2, Rows: [][]int{{1, 1}, {2}}}, {Of: 2, Rows: [][]int{{1, 1}, {1, 1, 0}}},
+		{Of: 2, Rows: [][]int{{1, 1}, {1, 0}}}, {Of: 2, Rows: [][]int{{1, 1}, {1, 2}}}, {Of: 2, Rows: [][]int{{3, -1}, {1, 1}}}, {Of: 2, Rows: [][]int{{1, 1}, {-1, 3}}},
+		{Of: 2, Rows: [][]int{{1, 1, 0}, {1, 1, 0}}}, {Of: math.MaxInt, Rows: [][]int{{math.MaxInt}}}, {Of: math.MinInt, Rows: [][]int{{math.MinInt}}},
+		// The sums of these overflow to 2.
+		{Of: 2, Rows: [][]int{{math.MaxInt, math.MaxInt, 4}, {1, 1, 0}, {1, 1, 0}}}, {Of: 2, Rows: [][]int{{math.MinInt, math.MinInt, 2}, {1, 1, 0}, {1, 1, 0}}},
+	}
+	six, many := impl.States{Of: 1}, impl.States{Of: 1}
+	for range 6 {
+		six.Rows = append(six.Rows, []int{1, 0, 0, 0, 0, 0})
+	}
+	for range 40 {
+		many.Rows = append(many.Rows, make([]int, 40))
+	}
+	return append(list, six, many)
+}
+
+func goodStates() []impl.States {
+	same := []int{1, 2}
+	roomy := [][]int{{1, 1, 0, 88, 88}, {1, 0, 1, 88}, {0, 0, 2}, {88, 88, 88}}[:3]
+	roomy[0], roomy[1] = roomy[0][:3], roomy[1][:3]
+	return []impl.States{
+		{Of: 1, Rows: [][]int{{1}}}, {Of: 10, Rows: [][]int{{10}}}, {Of: 3, Rows: [][]int{same, same}}, {Of: 2, Rows: roomy},
+		{Of: 1, Rows: [][]int{{0, 1}, {1, 0}}}, {Of: 10, Rows: [][]int{{3, 7, 0, 0, 0}, {0, 0, 10, 0, 0}, {4, 0, 0, 6, 0}, {0, 0, 0, 5, 5}, {0, 0, 0, 9, 1}}},
+	}
+}
+
 func pools() map[reflect.Type][]reflect.Value {
 	p := map[reflect.Type][]reflect.Value{}
 	add := func(v any) { p[reflect.TypeOf(v)] = append(p[reflect.TypeOf(v)], reflect.ValueOf(v)) }
@@ -51,7 +87,19 @@ func pools() map[reflect.Type][]reflect.Value {
 	for _, s := range []string{"d", "w", strings.Repeat("w", 8), strings.Repeat("dw", 5), strings.Repeat("d", 9), "1-2/4", "10-10/10", "1-2/11", "-/", "--//"} {
 		add(s)
 	}
-	for _, n := range []int{math.MinInt, -1, 0, 1, 2, 7, 8, 9, 60, 61, 1 << 40, math.MaxInt} {
+	for _, s := range []string{"2;1,1,0;1,0,1;0,0,2", "10;10", "2;1,1;1", "11;11", ";,", "1;1,0;-0,1"} {
+		add(s)
+	}
+	for _, s := range append(badStates(), goodStates()...) {
+		add(s)
+	}
+	for _, list := range [][]int{
+		nil, {0}, {1}, {-1}, {1, 0}, {0, 1}, {0, 0}, {0, 2}, {2, 0, 1}, []int{2, 0, 1, 88, 88}[:3], {0, 1, 3}, {0, 1, 1}, {4, 3, 2, 1, 0}, {4, 3, 2, 1, 5},
+		{math.MinInt, math.MaxInt}, {0, 1, 2, 3, 4, 5}, make([]int, 3000),
+	} {
+		add(list)
+	}
+	for _, n := range []int{math.MinInt, -1, 0, 1, 2, 4, 5, 7, 8, 9, 60, 61, 1 << 40, math.MaxInt} {
 		add(n)
 	}
 	return p
@@ -68,25 +116,65 @@ func everyCall(f reflect.Type, pool map[reflect.Type][]reflect.Value, args []ref
 	}
 }
 
+// lists are all lists of numbers in a value.
+func lists(v reflect.Value) [][]int {
+	switch x := v.Interface().(type) {
+	case []int:
+		return [][]int{x}
+	case [][]int:
+		return x
+	case impl.States:
+		return x.Rows
+	}
+	return nil
+}
+
 // plain copies values out, with the bytes of their texts and numbers of their lists.
 func plain(values []reflect.Value) []any {
-	var list []any
+	var copied []any
 	for _, v := range values {
 		switch x := v.Interface().(type) {
 		case string:
-			list = append(list, strings.Clone(x))
-		case []int:
-			list = append(list, append([]int{}, x...))
+			copied = append(copied, strings.Clone(x))
+		case impl.States:
+			copied = append(copied, x.Of, numbersOf(lists(v)))
+		case []int, [][]int:
+			copied = append(copied, numbersOf(lists(v)))
 		default:
-			list = append(list, x)
+			copied = append(copied, x)
 		}
 	}
-	return list
+	return copied
+}
+
+func numbersOf(rows [][]int) [][]int {
+	copied := [][]int{}
+	for _, r := range rows {
+		copied = append(copied, append([]int{}, r...))
+	}
+	return copied
+}
+
+// spare copies out what lies behind the lengths of lists.
+func spare(values []reflect.Value) [][]int {
+	var copied [][]int
+	for _, v := range values {
+		rows := lists(v)
+		for _, r := range rows[:cap(rows)] {
+			if r != nil {
+				copied = append(copied, slices.Clone(r[:cap(r)]))
+			}
+		}
+	}
+	return copied
 }
 
 // allZero tells whether all results before the last one are zero, an empty list being like nil.
 func allZero(results []reflect.Value) bool {
 	for _, r := range results[:len(results)-1] {
+		if s, ok := r.Interface().(impl.States); ok && s.Of == 0 && len(s.Rows) == 0 {
+			continue
+		}
 		if !r.IsZero() && !(r.Kind() == reflect.Slice && r.Len() == 0) {
 			return false
 		}
@@ -94,14 +182,26 @@ func allZero(results []reflect.Value) bool {
 	return true
 }
 
-func scribble(results []reflect.Value) {
+// scribble fills each list of the results with a number of its own, as far as its memory goes, and tells whether it stays there.
+func scribble(results []reflect.Value) bool {
+	var all [][]int
 	for _, r := range results {
-		if list, ok := r.Interface().([]int); ok {
-			for i := range list[:cap(list)] {
-				list[:cap(list)][i] = -77
+		rows := lists(r)
+		all = append(all, rows[:cap(rows)]...)
+	}
+	for k, list := range all {
+		for i := range list[:cap(list)] {
+			list[:cap(list)][i] = -77 - k
+		}
+	}
+	for k, list := range all {
+		for _, n := range list[:cap(list)] {
+			if n != -77-k {
+				return false
 			}
 		}
 	}
+	return true
 }
 
 func TestPromise11EveryFunctionAcceptsAllArguments(t *testing.T) {
@@ -111,10 +211,10 @@ func TestPromise11EveryFunctionAcceptsAllArguments(t *testing.T) {
 			fine, failed := 0, 0
 			v := reflect.ValueOf(f)
 			everyCall(v.Type(), pool, nil, func(args []reflect.Value) {
-				before := plain(args)
+				before, behind := plain(args), spare(args)
 				defer func() {
 					if r := recover(); r != nil {
-						t.Fatal(name, before, "panics:", r)
+						t.Fatalf("%s %.300v panics: %v", name, before, r)
 					}
 				}()
 				first := v.Call(args)
@@ -124,8 +224,10 @@ func TestPromise11EveryFunctionAcceptsAllArguments(t *testing.T) {
 				} else if failed++; !allZero(first) {
 					t.Fatal(name, before, "fails with", told)
 				}
-				scribble(first)
-				if !reflect.DeepEqual(before, plain(args)) {
+				if !scribble(first) {
+					t.Fatal(name, before, "gives lists that share memory")
+				}
+				if !reflect.DeepEqual(before, plain(args)) || !reflect.DeepEqual(behind, spare(args)) {
 					t.Fatal(name, "changes", before, "to", plain(args))
 				}
 				if again := plain(v.Call(args)); !reflect.DeepEqual(told, again) {
@@ -167,6 +269,7 @@ func TestNoChains(t *testing.T) {
 		mustNotTell(t, impl.TurnChain, c)
 		mustNotTell(t, impl.IsEven, c)
 		mustNotTell(t, impl.ChainText, c)
+		mustNotTell(t, impl.StatesOfChain, c)
 	}
 	for _, c := range allChains() {
 		if !impl.IsChain(c) {
@@ -225,5 +328,64 @@ func TestLimitsPassedByOne(t *testing.T) {
 func TestLimitsAreThoseOfTheDocument(t *testing.T) {
 	if impl.MaxOf != 10 || impl.MaxDays != 8 || impl.MaxSeen != 60 {
 		t.Error(impl.MaxOf, impl.MaxDays, impl.MaxSeen)
+	}
+	if impl.MaxStates != 5 || impl.MaxSteps != 8 {
+		t.Error(impl.MaxStates, impl.MaxSteps)
+	}
+}
+
+func TestNoStates(t *testing.T) {
+	for _, s := range badStates() {
+		mustNotTell(t, impl.AreStates, s)
+		mustNotTell(t, impl.ChanceOfStep, s, 0, 0)
+		mustNotTell(t, impl.StatesAfter, s, 0, 0)
+		mustNotTell(t, impl.StatesAfter, s, 0, 2)
+		mustNotTell(t, impl.ReachedStates, s, 0)
+		mustNotTell(t, impl.StateClasses, s)
+		mustNotTell(t, impl.IsOneClass, s)
+		mustNotTell(t, impl.LastingStates, s)
+		mustNotTell(t, impl.EndStates, s)
+		mustNotTell(t, impl.PeriodOfState, s, 0)
+		mustNotTell(t, impl.MeanUntilState, s, 0, 0)
+		mustNotTell(t, impl.ChanceToVisit, s, 0, 0)
+		mustNotTell(t, impl.ChanceToEnd, s, 0, 0)
+		mustNotTell(t, impl.SharesOfStates, s)
+		mustNotTell(t, impl.CountWays, s, 0, 0, 0)
+		mustNotTell(t, impl.CountWays, s, 0, 0, 2)
+		mustNotTell(t, impl.FirstWay, s, 0, 0)
+		for _, names := range [][]int{nil, {0}, {1, 0}, {2, 0, 1}, {0, 1, 2, 3, 4, 5}} {
+			mustNotTell(t, impl.RenameStates, s, names)
+		}
+		mustNotTell(t, impl.StatesText, s)
+	}
+	for _, s := range goodStates() {
+		if !impl.AreStates(s) {
+			t.Error("no states", s)
+		}
+	}
+}
+
+// Behind three states nothing is there, though arrays may have room for it.
+func TestStatesThatThereAreNot(t *testing.T) {
+	s := impl.States{Of: 2, Rows: [][]int{{1, 1, 0}, {1, 0, 1}, {0, 0, 2}}}
+	for _, k := range []int{math.MinInt, -1, 3, 4, 5, math.MaxInt} {
+		for _, f := range []any{impl.ChanceOfStep, impl.MeanUntilState, impl.ChanceToVisit, impl.ChanceToEnd, impl.FirstWay} {
+			mustNotTell(t, f, s, k, 2)
+			mustNotTell(t, f, s, 2, k)
+			mustNotTell(t, f, s, k, k)
+		}
+		mustNotTell(t, impl.StatesAfter, s, k, 2)
+		mustNotTell(t, impl.ReachedStates, s, k)
+		mustNotTell(t, impl.PeriodOfState, s, k)
+		mustNotTell(t, impl.CountWays, s, k, 2, 2)
+		mustNotTell(t, impl.CountWays, s, 2, k, 2)
+		mustNotTell(t, impl.RenameStates, s, []int{0, k, 2})
+	}
+	for _, names := range [][]int{nil, {0, 1}, {0, 1, 2, 3}, {0, 1, 1}, {2, 2, 2}, {0, 1, 2, 0}} {
+		mustNotTell(t, impl.RenameStates, s, names)
+	}
+	for _, steps := range []int{math.MinInt, -1, impl.MaxSteps + 1, math.MaxInt} {
+		mustNotTell(t, impl.StatesAfter, s, 0, steps)
+		mustNotTell(t, impl.CountWays, s, 0, 2, steps)
 	}
 }
