@@ -338,7 +338,7 @@ func ParseChain(t string) (Chain, bool) {
 	return c, true
 }
 
-// numberIn is -1 for a text without a number: nothing in a chain is negative.
+// numberIn is -1 for a text without a number: nothing that is told by a text is negative.
 func numberIn(t string) int {
 	n, err := strconv.Atoi(t)
 	if err != nil {

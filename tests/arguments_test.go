@@ -24,6 +24,11 @@ var functions = map[string]any{
 	"PeriodOfState": impl.PeriodOfState, "MeanUntilState": impl.MeanUntilState, "ChanceToVisit": impl.ChanceToVisit, "ChanceToEnd": impl.ChanceToEnd,
 	"SharesOfStates": impl.SharesOfStates, "CountWays": impl.CountWays, "FirstWay": impl.FirstWay, "RenameStates": impl.RenameStates,
 	"StatesOfChain": impl.StatesOfChain, "StatesText": impl.StatesText, "ParseStates": impl.ParseStates,
+	"IsCoin": impl.IsCoin, "IsPattern": impl.IsPattern, "ChanceOfPattern": impl.ChanceOfPattern, "OverlapsOf": impl.OverlapsOf,
+	"MeanWait": impl.MeanWait, "MeanBetween": impl.MeanBetween, "CountWithout": impl.CountWithout, "CountFirstAt": impl.CountFirstAt,
+	"ChanceBy": impl.ChanceBy, "AllWithout": impl.AllWithout, "PlacesOf": impl.PlacesOf, "FirstPlace": impl.FirstPlace,
+	"MeanPlaces": impl.MeanPlaces, "LongestWait": impl.LongestWait, "ShortestWait": impl.ShortestWait, "TurnPattern": impl.TurnPattern,
+	"BackPattern": impl.BackPattern, "CoinText": impl.CoinText, "ParseCoin": impl.ParseCoin,
 }
 
 var badChains = []impl.Chain{
@@ -40,6 +45,21 @@ var badDays = []string{
 
 // badDay are what is no day, though it may be days.
 var badDay = append(slices.Clone(badDays), "dd", "dw", "ww", "ddwwwd", strings.Repeat("d", impl.MaxSeen))
+
+var badCoins = []impl.Coin{
+	{}, {Heads: 1}, {Heads: 1, Of: 1}, {Of: 1}, {Of: 2}, {Heads: 2, Of: 2}, {Heads: 3, Of: 2}, {Heads: -1, Of: 2}, {Of: 10}, {Heads: 10, Of: 10},
+	{Heads: 1, Of: 11}, {Heads: 10, Of: 11}, {Heads: 1, Of: -2}, {Heads: -2, Of: -1}, {Heads: math.MinInt, Of: 2}, {Heads: math.MaxInt, Of: 2},
+	{Heads: 1, Of: math.MinInt}, {Heads: 1, Of: math.MaxInt}, {Heads: math.MinInt, Of: math.MinInt}, {Heads: math.MaxInt, Of: math.MaxInt},
+}
+
+// badTosses are no pattern either.
+var badTosses = []string{
+	" ", "x", "d", "w", "H", "T", "HT", "hx", "xh", "hxh", "h t", "ht ", " ht", "ht\n", "h,t", "\x00", "h\x00t", "\xff", "h\xfft", "\xe8\xf4", "hét", "ｈ",
+	strings.Repeat("h", impl.MaxTosses+1), strings.Repeat("t", impl.MaxTosses+1), strings.Repeat("ht", 500),
+}
+
+// badPatterns are no patterns, though they may be tosses.
+var badPatterns = append(slices.Clone(badTosses), "", "hhhhhhhhh", "ttttttttt", "hthththth", strings.Repeat("h", impl.MaxTosses))
 
 // badStates are made anew each time, so that no test can spoil another one.
 func badStates() []impl.States {
@@ -90,6 +110,12 @@ func pools() map[reflect.Type][]reflect.Value {
 	for _, s := range []string{"2;1,1,0;1,0,1;0,0,2", "10;10", "2;1,1;1", "11;11", ";,", "1;1,0;-0,1"} {
 		add(s)
 	}
+	for _, c := range append(slices.Clone(badCoins), impl.Coin{Heads: 1, Of: 2}, impl.Coin{Heads: 1, Of: 3}, impl.Coin{Heads: 9, Of: 10}) {
+		add(c)
+	}
+	for _, s := range []string{"H", "hxh", "ht ", "t", "hh", "hth", "hhhhhhhh", "hthththth", strings.Repeat("ht", 20), strings.Repeat("ht", 20) + "h", "1/2", "9/10", "10/10"} {
+		add(s)
+	}
 	for _, s := range append(badStates(), goodStates()...) {
 		add(s)
 	}
@@ -99,7 +125,7 @@ func pools() map[reflect.Type][]reflect.Value {
 	} {
 		add(list)
 	}
-	for _, n := range []int{math.MinInt, -1, 0, 1, 2, 4, 5, 7, 8, 9, 60, 61, 1 << 40, math.MaxInt} {
+	for _, n := range []int{math.MinInt, -1, 0, 1, 2, 4, 5, 7, 8, 9, 12, 13, 40, 41, 60, 61, 1 << 40, math.MaxInt} {
 		add(n)
 	}
 	return p
@@ -140,6 +166,8 @@ func plain(values []reflect.Value) []any {
 			copied = append(copied, x.Of, numbersOf(lists(v)))
 		case []int, [][]int:
 			copied = append(copied, numbersOf(lists(v)))
+		case []string:
+			copied = append(copied, append([]string{}, x...))
 		default:
 			copied = append(copied, x)
 		}
@@ -183,9 +211,15 @@ func allZero(results []reflect.Value) bool {
 }
 
 // scribble fills each list of the results with a number of its own, as far as its memory goes, and tells whether it stays there.
+// Lists of texts, of which no result has two, are filled for the next call, which must not give the same memory out.
 func scribble(results []reflect.Value) bool {
 	var all [][]int
 	for _, r := range results {
+		if texts, ok := r.Interface().([]string); ok {
+			for i := range texts[:cap(texts)] {
+				texts[:cap(texts)][i] = "scribbled"
+			}
+		}
 		rows := lists(r)
 		all = append(all, rows[:cap(rows)]...)
 	}
@@ -332,6 +366,9 @@ func TestLimitsAreThoseOfTheDocument(t *testing.T) {
 	if impl.MaxStates != 5 || impl.MaxSteps != 8 {
 		t.Error(impl.MaxStates, impl.MaxSteps)
 	}
+	if impl.MaxPattern != 8 || impl.MaxTosses != 40 || impl.MaxListedTosses != 12 {
+		t.Error(impl.MaxPattern, impl.MaxTosses, impl.MaxListedTosses)
+	}
 }
 
 func TestNoStates(t *testing.T) {
@@ -387,5 +424,80 @@ func TestStatesThatThereAreNot(t *testing.T) {
 	for _, steps := range []int{math.MinInt, -1, impl.MaxSteps + 1, math.MaxInt} {
 		mustNotTell(t, impl.StatesAfter, s, 0, steps)
 		mustNotTell(t, impl.CountWays, s, 0, 2, steps)
+	}
+}
+
+func TestNoCoins(t *testing.T) {
+	for _, c := range badCoins {
+		mustNotTell(t, impl.IsCoin, c)
+		mustNotTell(t, impl.ChanceOfPattern, c, "h")
+		mustNotTell(t, impl.MeanWait, c, "h")
+		mustNotTell(t, impl.MeanBetween, c, "h")
+		mustNotTell(t, impl.ChanceBy, c, "h", 0)
+		mustNotTell(t, impl.ChanceBy, c, "h", 2)
+		mustNotTell(t, impl.MeanPlaces, c, "h", 0)
+		mustNotTell(t, impl.MeanPlaces, c, "h", 2)
+		mustNotTell(t, impl.CoinText, c)
+	}
+	for _, c := range allCoins() {
+		if !impl.IsCoin(c) {
+			t.Error("no coin", c)
+		}
+	}
+}
+
+func TestNoPatterns(t *testing.T) {
+	c := impl.Coin{Heads: 1, Of: 3}
+	for _, p := range badPatterns {
+		mustNotTell(t, impl.IsPattern, p)
+		mustNotTell(t, impl.ChanceOfPattern, c, p)
+		mustNotTell(t, impl.OverlapsOf, p)
+		mustNotTell(t, impl.MeanWait, c, p)
+		mustNotTell(t, impl.MeanBetween, c, p)
+		mustNotTell(t, impl.CountWithout, p, 0)
+		mustNotTell(t, impl.CountWithout, p, 4)
+		mustNotTell(t, impl.CountFirstAt, p, 4)
+		mustNotTell(t, impl.ChanceBy, c, p, 0)
+		mustNotTell(t, impl.ChanceBy, c, p, 4)
+		mustNotTell(t, impl.AllWithout, p, 0)
+		mustNotTell(t, impl.AllWithout, p, 4)
+		for _, tosses := range []string{"", "h", p, p + p, "ht" + p + "ht"} {
+			mustNotTell(t, impl.PlacesOf, p, tosses)
+			mustNotTell(t, impl.FirstPlace, p, tosses)
+		}
+		mustNotTell(t, impl.MeanPlaces, c, p, 0)
+		mustNotTell(t, impl.MeanPlaces, c, p, 4)
+		mustNotTell(t, impl.TurnPattern, p)
+		mustNotTell(t, impl.BackPattern, p)
+	}
+	for _, tosses := range badTosses {
+		for _, p := range []string{"h", "t", "ht", "hhhhhhhh"} {
+			mustNotTell(t, impl.PlacesOf, p, tosses)
+			mustNotTell(t, impl.FirstPlace, p, tosses)
+			mustNotTell(t, impl.PlacesOf, p, p+tosses)
+			mustNotTell(t, impl.FirstPlace, p, p+tosses)
+		}
+	}
+}
+
+func TestNumbersOfTossesPassedByOne(t *testing.T) {
+	c := impl.Coin{Heads: 1, Of: 3}
+	for _, p := range []string{"h", "tt", "hhhhhhhh", "hthththt"} {
+		mustNotTell(t, impl.CountFirstAt, p, 0)
+		for _, n := range []int{math.MinInt, -1, impl.MaxTosses + 1, math.MaxInt} {
+			mustNotTell(t, impl.CountWithout, p, n)
+			mustNotTell(t, impl.CountFirstAt, p, n)
+			mustNotTell(t, impl.MeanPlaces, c, p, n)
+		}
+		for _, n := range []int{math.MinInt, -1, 9, 12, math.MaxInt} {
+			mustNotTell(t, impl.ChanceBy, c, p, n)
+		}
+		for _, n := range []int{math.MinInt, -1, impl.MaxListedTosses + 1, impl.MaxTosses, math.MaxInt} {
+			mustNotTell(t, impl.AllWithout, p, n)
+		}
+	}
+	for _, n := range []int{math.MinInt, -1, 0, impl.MaxPattern + 1, impl.MaxTosses, math.MaxInt} {
+		mustNotTell(t, impl.LongestWait, n)
+		mustNotTell(t, impl.ShortestWait, n)
 	}
 }
