@@ -29,6 +29,11 @@ var functions = map[string]any{
 	"ChanceBy": impl.ChanceBy, "AllWithout": impl.AllWithout, "PlacesOf": impl.PlacesOf, "FirstPlace": impl.FirstPlace,
 	"MeanPlaces": impl.MeanPlaces, "LongestWait": impl.LongestWait, "ShortestWait": impl.ShortestWait, "TurnPattern": impl.TurnPattern,
 	"BackPattern": impl.BackPattern, "CoinText": impl.CoinText, "ParseCoin": impl.ParseCoin,
+	"AreRacers": impl.AreRacers, "LeadingNumber": impl.LeadingNumber, "ChanceFirst": impl.ChanceFirst, "MeanRace": impl.MeanRace,
+	"WinnerOfRace": impl.WinnerOfRace, "CountWonAt": impl.CountWonAt, "CountOpen": impl.CountOpen, "DoesBeat": impl.DoesBeat,
+	"BestAnswer": impl.BestAnswer, "BeatenBy": impl.BeatenBy, "AnswersFrom": impl.AnswersFrom, "HardestToBeat": impl.HardestToBeat,
+	"EvenRaces": impl.EvenRaces, "TurnRace": impl.TurnRace, "AreManyRacers": impl.AreManyRacers, "WinnerOfMany": impl.WinnerOfMany,
+	"CountManyWonAt": impl.CountManyWonAt, "CountManyOpen": impl.CountManyOpen,
 }
 
 var badChains = []impl.Chain{
@@ -60,6 +65,32 @@ var badTosses = []string{
 
 // badPatterns are no patterns, though they may be tosses.
 var badPatterns = append(slices.Clone(badTosses), "", "hhhhhhhhh", "ttttttttt", "hthththth", strings.Repeat("h", impl.MaxTosses))
+
+// badRaceCoins may be coins.
+var badRaceCoins = append(slices.Clone(badCoins), impl.Coin{Heads: 1, Of: 5}, impl.Coin{Heads: 4, Of: 5}, impl.Coin{Heads: 5, Of: 10}, impl.Coin{Heads: 9, Of: 10})
+
+// badRacers have one sign more than racers, if they are patterns.
+var badRacers = append(slices.Clone(badPatterns), "hhhhhh", "tttttt", "hththt", "thhhhh", "hhhhhhhh")
+
+func goodLists() [][]string {
+	return [][]string{
+		{"h", "t"}, {"t", "h"}, {"thh", "hhh"}, {"hh", "ht", "th"}, {"tt", "ht", "th", "hh"}, {"hhhhh", "thhhh"},
+		[]string{"hhhhh", "thhhh", "ttttt", "hthth", "spare"}[:4], []string{"hth", "thh", "spare", "hth"}[:2],
+	}
+}
+
+func badLists() [][]string {
+	lists := [][]string{
+		nil, {}, {""}, {"h"}, {"hhh"}, {"", ""}, {"h", ""}, {"", "h"}, {"h", "h"}, {"hth", "hth"}, {"h", "tt"}, {"tt", "h"}, {"hh", "tt", "h"}, {"hh", "t", "tt"},
+		{"hh", "tt", "hh"}, {"hh", "tt", "tt"}, {"hh", "ht", "tt", "ht"}, {"h", "t", "h"}, {"h", "x"}, {"x", "h"}, {"h", "T"}, {"hh", "tt", "hx"}, {"hh", "ht", "th", "\xff\xff"},
+		{"hhh", "hht", "hth", "htt", "thh"}, {"hhhhh", "hhhht", "hhhth", "hhhtt", "hhthh"}, {"hhhhhh", "tttttt"}, {"hhhhhhhh", "tttttttt"},
+		[]string{"hh", "tt", "ht"}[:1], []string{"hh", "hh", "ht"}[:2], make([]string, 3000), {strings.Repeat("h", 5000), strings.Repeat("t", 5000)},
+	}
+	for _, p := range badRacers {
+		lists = append(lists, []string{p, strings.Repeat("t", len(p))}, []string{strings.Repeat("h", len(p)), p}, []string{"hh", "tt", "ht", p})
+	}
+	return lists
+}
 
 // badStates are made anew each time, so that no test can spoil another one.
 func badStates() []impl.States {
@@ -125,7 +156,13 @@ func pools() map[reflect.Type][]reflect.Value {
 	} {
 		add(list)
 	}
-	for _, n := range []int{math.MinInt, -1, 0, 1, 2, 4, 5, 7, 8, 9, 12, 13, 40, 41, 60, 61, 1 << 40, math.MaxInt} {
+	for _, s := range []string{"thh", "hhhhh", "thhhh", "hhhhhh"} {
+		add(s)
+	}
+	for _, list := range append(goodLists(), badLists()...) {
+		add(list)
+	}
+	for _, n := range []int{math.MinInt, -1, 0, 1, 2, 4, 5, 7, 8, 9, 12, 13, 30, 31, 40, 41, 60, 61, 1 << 40, math.MaxInt} {
 		add(n)
 	}
 	return p
@@ -184,9 +221,12 @@ func numbersOf(rows [][]int) [][]int {
 }
 
 // spare copies out what lies behind the lengths of lists.
-func spare(values []reflect.Value) [][]int {
-	var copied [][]int
+func spare(values []reflect.Value) []any {
+	var copied []any
 	for _, v := range values {
+		if texts, ok := v.Interface().([]string); ok {
+			copied = append(copied, slices.Clone(texts[:cap(texts)]))
+		}
 		rows := lists(v)
 		for _, r := range rows[:cap(rows)] {
 			if r != nil {
@@ -369,6 +409,9 @@ func TestLimitsAreThoseOfTheDocument(t *testing.T) {
 	if impl.MaxPattern != 8 || impl.MaxTosses != 40 || impl.MaxListedTosses != 12 {
 		t.Error(impl.MaxPattern, impl.MaxTosses, impl.MaxListedTosses)
 	}
+	if impl.MaxRaced != 5 || impl.MaxRaceOf != 4 || impl.MaxRacers != 4 {
+		t.Error(impl.MaxRaced, impl.MaxRaceOf, impl.MaxRacers)
+	}
 }
 
 func TestNoStates(t *testing.T) {
@@ -499,5 +542,115 @@ func TestNumbersOfTossesPassedByOne(t *testing.T) {
 	for _, n := range []int{math.MinInt, -1, 0, impl.MaxPattern + 1, impl.MaxTosses, math.MaxInt} {
 		mustNotTell(t, impl.LongestWait, n)
 		mustNotTell(t, impl.ShortestWait, n)
+	}
+}
+
+func TestNoRaceCoins(t *testing.T) {
+	for _, c := range badRaceCoins {
+		for _, f := range []any{impl.LeadingNumber, impl.ChanceFirst, impl.MeanRace, impl.DoesBeat} {
+			mustNotTell(t, f, c, "h", "t")
+			mustNotTell(t, f, c, "thh", "hhh")
+		}
+		mustNotTell(t, impl.LeadingNumber, c, "hh", "hh")
+		for _, f := range []any{impl.BestAnswer, impl.BeatenBy, impl.AnswersFrom, impl.EvenRaces} {
+			mustNotTell(t, f, c, "hh")
+			mustNotTell(t, f, c, "hthht")
+		}
+		mustNotTell(t, impl.HardestToBeat, c, 2)
+	}
+}
+
+// mustNotRace asks all functions that require racers, which a and b are not.
+func mustNotRace(t *testing.T, a, b string) {
+	t.Helper()
+	c := impl.Coin{Heads: 1, Of: 3}
+	mustNotTell(t, impl.AreRacers, a, b)
+	mustNotTell(t, impl.ChanceFirst, c, a, b)
+	mustNotTell(t, impl.MeanRace, c, a, b)
+	mustNotTell(t, impl.DoesBeat, c, a, b)
+	for _, tosses := range []string{"", "hthhtt", "hhhhhhhhhhtttttttttt"} {
+		mustNotTell(t, impl.WinnerOfRace, a, b, tosses)
+	}
+	if len(a)+len(b) <= impl.MaxTosses {
+		mustNotTell(t, impl.WinnerOfRace, a, b, a+b)
+	}
+	for _, n := range []int{0, 1, 8} {
+		mustNotTell(t, impl.CountWonAt, a, b, n)
+		mustNotTell(t, impl.CountOpen, a, b, n)
+	}
+	mustNotTell(t, impl.TurnRace, a, b)
+}
+
+func TestNoRacers(t *testing.T) {
+	c := impl.Coin{Heads: 1, Of: 3}
+	for _, p := range badRacers {
+		for _, q := range []string{"h", "hhh", strings.Repeat("h", len(p)), strings.Repeat("t", len(p)), p} {
+			if p != q {
+				mustNotRace(t, p, q)
+				mustNotRace(t, q, p)
+			}
+			mustNotTell(t, impl.LeadingNumber, c, p, q)
+			mustNotTell(t, impl.LeadingNumber, c, q, p)
+		}
+		mustNotRace(t, p, p)
+		mustNotTell(t, impl.BeatenBy, c, p)
+		mustNotTell(t, impl.EvenRaces, c, p)
+		mustNotTell(t, impl.BestAnswer, c, p)
+		mustNotTell(t, impl.AnswersFrom, c, p)
+	}
+	// A pattern of one sign has one rival, but no answer is told of it.
+	for _, p := range []string{"h", "t"} {
+		mustNotTell(t, impl.BestAnswer, c, p)
+		mustNotTell(t, impl.AnswersFrom, c, p)
+	}
+	for _, a := range racedPatterns() {
+		mustNotRace(t, a, a)
+		if len(a) > 1 {
+			mustNotRace(t, a, a[1:])
+			mustNotRace(t, a[:1], a)
+			mustNotTell(t, impl.LeadingNumber, c, a, a[1:])
+			mustNotTell(t, impl.LeadingNumber, c, a[:1], a)
+		}
+	}
+}
+
+func TestNoManyRacers(t *testing.T) {
+	for _, list := range badLists() {
+		mustNotTell(t, impl.AreManyRacers, list)
+		for _, tosses := range []string{"", "h", "hhttht", "hhhhhhhhhhtttttttttt"} {
+			mustNotTell(t, impl.WinnerOfMany, list, tosses)
+		}
+		for _, n := range []int{0, 1, 8} {
+			mustNotTell(t, impl.CountManyWonAt, list, 0, n)
+			mustNotTell(t, impl.CountManyOpen, list, n)
+		}
+	}
+	for _, list := range goodLists() {
+		if !impl.AreManyRacers(list) {
+			t.Error("no many racers", list)
+		}
+		for _, k := range []int{math.MinInt, -1, len(list), impl.MaxRacers, math.MaxInt} {
+			mustNotTell(t, impl.CountManyWonAt, list, k, 0)
+			mustNotTell(t, impl.CountManyWonAt, list, k, 5)
+		}
+	}
+}
+
+func TestLimitsOfRacesPassedByOne(t *testing.T) {
+	c := impl.Coin{Heads: 3, Of: 4}
+	for _, n := range []int{math.MinInt, -1, 31, impl.MaxTosses, math.MaxInt} {
+		mustNotTell(t, impl.CountWonAt, "h", "t", n)
+		mustNotTell(t, impl.CountOpen, "thhhh", "hhhhh", n)
+		mustNotTell(t, impl.CountManyWonAt, []string{"hh", "ht", "tt"}, 1, n)
+		mustNotTell(t, impl.CountManyOpen, []string{"hh", "ht", "tt"}, n)
+	}
+	for _, long := range []int{math.MinInt, -1, 0, 1, impl.MaxRaced + 1, impl.MaxPattern, math.MaxInt} {
+		mustNotTell(t, impl.HardestToBeat, c, long)
+	}
+	for _, tosses := range badTosses {
+		for _, text := range []string{tosses, "hhtt" + tosses, tosses + "hhtt"} {
+			mustNotTell(t, impl.WinnerOfRace, "hh", "tt", text)
+			mustNotTell(t, impl.WinnerOfMany, []string{"hh", "tt", "ht"}, text)
+		}
 	}
 }

@@ -123,40 +123,9 @@ func TestPromise3WaitsAreNotLessThanTheTimeBetween(t *testing.T) {
 	}
 }
 
-// countsWithout counts texts by their last tosses, one less than the pattern has: the signs are the bits of a number.
-func countsWithout(p string, most int) []int {
-	whole := 0
-	for _, sign := range p {
-		whole *= 2
-		if sign == 't' {
-			whole++
-		}
-	}
-	size := 1 << (len(p) - 1)
-	var counts []int
-	here := []int{1}
-	for long := 0; long <= most; long++ {
-		sum := 0
-		for _, n := range here {
-			sum += n
-		}
-		counts = append(counts, sum)
-		next := make([]int, min(size, 2*len(here)))
-		for last, n := range here {
-			for toss := range 2 {
-				if long+1 < len(p) || 2*last+toss != whole {
-					next[(2*last+toss)%size] += n
-				}
-			}
-		}
-		here = next
-	}
-	return counts
-}
-
 func TestPromise3CountsAreAllTosses(t *testing.T) {
 	for _, p := range allPatterns() {
-		want := countsWithout(p, impl.MaxTosses)
+		want, _ := countsOfTexts([]string{p}, impl.MaxTosses)
 		come := 0
 		for tosses := 0; tosses <= impl.MaxTosses; tosses++ {
 			without, ok := impl.CountWithout(p, tosses)
