@@ -34,6 +34,10 @@ var functions = map[string]any{
 	"BestAnswer": impl.BestAnswer, "BeatenBy": impl.BeatenBy, "AnswersFrom": impl.AnswersFrom, "HardestToBeat": impl.HardestToBeat,
 	"EvenRaces": impl.EvenRaces, "TurnRace": impl.TurnRace, "AreManyRacers": impl.AreManyRacers, "WinnerOfMany": impl.WinnerOfMany,
 	"CountManyWonAt": impl.CountManyWonAt, "CountManyOpen": impl.CountManyOpen,
+	"AreManyTosses": impl.AreManyTosses, "FairByPairs": impl.FairByPairs, "FairAgain": impl.FairAgain, "PairsThatGive": impl.PairsThatGive,
+	"ChanceToGive": impl.ChanceToGive, "MeanTosses": impl.MeanTosses, "MeanFair": impl.MeanFair, "RollOf": impl.RollOf, "RollsOf": impl.RollsOf,
+	"MeanForRoll": impl.MeanForRoll, "RollKeeping": impl.RollKeeping, "RollsKeeping": impl.RollsKeeping, "MeanKeeping": impl.MeanKeeping,
+	"UnfairOf": impl.UnfairOf, "UnfairTosses": impl.UnfairTosses, "ChanceOfAll": impl.ChanceOfAll, "SameFair": impl.SameFair,
 }
 
 var badChains = []impl.Chain{
@@ -57,11 +61,21 @@ var badCoins = []impl.Coin{
 	{Heads: 1, Of: math.MinInt}, {Heads: 1, Of: math.MaxInt}, {Heads: math.MinInt, Of: math.MinInt}, {Heads: math.MaxInt, Of: math.MaxInt},
 }
 
-// badTosses are no pattern either.
-var badTosses = []string{
+// badSigns are no tosses, however many of these there may be.
+var badSigns = []string{
 	" ", "x", "d", "w", "H", "T", "HT", "hx", "xh", "hxh", "h t", "ht ", " ht", "ht\n", "h,t", "\x00", "h\x00t", "\xff", "h\xfft", "\xe8\xf4", "hét", "ｈ",
-	strings.Repeat("h", impl.MaxTosses+1), strings.Repeat("t", impl.MaxTosses+1), strings.Repeat("ht", 500),
 }
+
+// badTosses are no pattern either.
+var badTosses = append(slices.Clone(badSigns), strings.Repeat("h", impl.MaxTosses+1), strings.Repeat("t", impl.MaxTosses+1), strings.Repeat("ht", 500))
+
+var badManyTosses = append(slices.Clone(badSigns),
+	strings.Repeat("h", impl.MaxFairTosses+1), strings.Repeat("t", impl.MaxFairTosses+1), strings.Repeat("ht", impl.MaxFairTosses/2)+"h",
+	strings.Repeat("hth", 500), strings.Repeat("h", impl.MaxFairTosses-1)+"x", "x"+strings.Repeat("t", impl.MaxFairTosses-1), strings.Repeat("ht", impl.MaxFairTosses/2-1)+" t",
+)
+
+// badSides are of no die.
+var badSides = []int{math.MinInt, -12, -1, 0, impl.MaxSides + 1, 16, 1 << 40, math.MaxInt}
 
 // badPatterns are no patterns, though they may be tosses.
 var badPatterns = append(slices.Clone(badTosses), "", "hhhhhhhhh", "ttttttttt", "hthththth", strings.Repeat("h", impl.MaxTosses))
@@ -156,13 +170,13 @@ func pools() map[reflect.Type][]reflect.Value {
 	} {
 		add(list)
 	}
-	for _, s := range []string{"thh", "hhhhh", "thhhh", "hhhhhh"} {
+	for _, s := range []string{"thh", "hhhhh", "thhhh", "hhhhhh", "hhthtt", strings.Repeat("tth", 66) + "ht", strings.Repeat("tth", 67)} {
 		add(s)
 	}
 	for _, list := range append(goodLists(), badLists()...) {
 		add(list)
 	}
-	for _, n := range []int{math.MinInt, -1, 0, 1, 2, 4, 5, 7, 8, 9, 12, 13, 30, 31, 40, 41, 60, 61, 1 << 40, math.MaxInt} {
+	for _, n := range []int{math.MinInt, -1, 0, 1, 2, 4, 5, 7, 8, 9, 12, 13, 30, 31, 40, 41, 60, 61, 200, 201, 1 << 40, math.MaxInt} {
 		add(n)
 	}
 	return p
@@ -412,6 +426,9 @@ func TestLimitsAreThoseOfTheDocument(t *testing.T) {
 	if impl.MaxRaced != 5 || impl.MaxRaceOf != 4 || impl.MaxRacers != 4 {
 		t.Error(impl.MaxRaced, impl.MaxRaceOf, impl.MaxRacers)
 	}
+	if impl.MaxSides != 12 || impl.MaxFairTosses != 200 {
+		t.Error(impl.MaxSides, impl.MaxFairTosses)
+	}
 }
 
 func TestNoStates(t *testing.T) {
@@ -652,5 +669,72 @@ func TestLimitsOfRacesPassedByOne(t *testing.T) {
 			mustNotTell(t, impl.WinnerOfRace, "hh", "tt", text)
 			mustNotTell(t, impl.WinnerOfMany, []string{"hh", "tt", "ht"}, text)
 		}
+	}
+}
+
+func TestNoManyTosses(t *testing.T) {
+	c := impl.Coin{Heads: 1, Of: 3}
+	for _, tosses := range badManyTosses {
+		for _, f := range []any{impl.AreManyTosses, impl.FairByPairs, impl.FairAgain, impl.PairsThatGive} {
+			mustNotTell(t, f, tosses)
+		}
+		for _, sides := range []int{1, 2, 6, impl.MaxSides} {
+			for _, f := range []any{impl.RollOf, impl.RollsOf, impl.RollKeeping, impl.RollsKeeping} {
+				mustNotTell(t, f, sides, tosses)
+			}
+		}
+		for _, f := range []any{impl.UnfairOf, impl.UnfairTosses, impl.ChanceOfAll} {
+			mustNotTell(t, f, c, tosses)
+		}
+		for _, other := range []string{"", "h", "ht", tosses} {
+			mustNotTell(t, impl.SameFair, tosses, other)
+			mustNotTell(t, impl.SameFair, other, tosses)
+		}
+	}
+	// The first tosses would do for a roll or an unfair toss, but the text is none.
+	for _, tosses := range badSigns {
+		mustNotTell(t, impl.RollOf, 2, "ht"+tosses)
+		mustNotTell(t, impl.RollKeeping, 2, "ht"+tosses)
+		mustNotTell(t, impl.RollsOf, 2, "ht"+tosses)
+		mustNotTell(t, impl.RollsKeeping, 2, "ht"+tosses)
+		mustNotTell(t, impl.UnfairOf, c, "ht"+tosses)
+		mustNotTell(t, impl.UnfairTosses, c, "ht"+tosses)
+	}
+}
+
+func TestNoCoinsOfFairTosses(t *testing.T) {
+	for _, c := range badCoins {
+		mustNotTell(t, impl.ChanceToGive, c)
+		mustNotTell(t, impl.MeanTosses, c)
+		mustNotTell(t, impl.MeanFair, c, 0)
+		mustNotTell(t, impl.MeanFair, c, 9)
+		for _, tosses := range []string{"", "h", "t", "htthht"} {
+			mustNotTell(t, impl.UnfairOf, c, tosses)
+			mustNotTell(t, impl.UnfairTosses, c, tosses)
+			mustNotTell(t, impl.ChanceOfAll, c, tosses)
+		}
+	}
+}
+
+func TestNoDice(t *testing.T) {
+	for _, sides := range badSides {
+		mustNotTell(t, impl.MeanForRoll, sides)
+		mustNotTell(t, impl.MeanKeeping, sides)
+		for _, tosses := range []string{"", "t", "tttttttt", strings.Repeat("t", impl.MaxFairTosses)} {
+			for _, f := range []any{impl.RollOf, impl.RollsOf, impl.RollKeeping, impl.RollsKeeping} {
+				mustNotTell(t, f, sides, tosses)
+			}
+		}
+	}
+}
+
+func TestLimitsOfFairTossesPassedByOne(t *testing.T) {
+	c := impl.Coin{Heads: 3, Of: 4}
+	for _, n := range []int{math.MinInt, -2, -1, impl.MaxFairTosses + 1, impl.MaxFairTosses + 2, math.MaxInt} {
+		mustNotTell(t, impl.MeanFair, c, n)
+	}
+	for _, n := range []int{impl.MaxPattern + 1, impl.MaxTosses, impl.MaxFairTosses, impl.MaxFairTosses + 1} {
+		mustNotTell(t, impl.ChanceOfAll, c, strings.Repeat("h", n))
+		mustNotTell(t, impl.ChanceOfAll, c, strings.Repeat("t", n))
 	}
 }
