@@ -6,13 +6,14 @@ import (
 	"slices"
 	"strings"
 	"testing"
+	"unsafe"
 
 	"loop.example/g01337/impl"
 )
 
 // The tests of promise 11: every function accepts all arguments without panicking and modifies none of them.
 
-// functions are the exported ones of the chapters that have landed.
+// functions are the exported ones of the chapters that have landed, but those of words.
 var functions = map[string]any{
 	"IsChain": impl.IsChain, "AreDays": impl.AreDays, "ChanceNext": impl.ChanceNext, "ChanceOfDays": impl.ChanceOfDays,
 	"ChanceLater": impl.ChanceLater, "LongShare": impl.LongShare, "ChanceOfAny": impl.ChanceOfAny, "MeanRun": impl.MeanRun,
@@ -38,6 +39,15 @@ var functions = map[string]any{
 	"ChanceToGive": impl.ChanceToGive, "MeanTosses": impl.MeanTosses, "MeanFair": impl.MeanFair, "RollOf": impl.RollOf, "RollsOf": impl.RollsOf,
 	"MeanForRoll": impl.MeanForRoll, "RollKeeping": impl.RollKeeping, "RollsKeeping": impl.RollsKeeping, "MeanKeeping": impl.MeanKeeping,
 	"UnfairOf": impl.UnfairOf, "UnfairTosses": impl.UnfairTosses, "ChanceOfAll": impl.ChanceOfAll, "SameFair": impl.SameFair,
+}
+
+// wordFunctions are called with words besides, which would be too many arguments for all functions.
+var wordFunctions = map[string]any{
+	"IsWord": impl.IsWord, "WordOverlaps": impl.WordOverlaps, "MeanTyped": impl.MeanTyped, "CountTextsWithout": impl.CountTextsWithout,
+	"CountFirstTyped": impl.CountFirstTyped, "PlacesOfWord": impl.PlacesOfWord, "ShortestWithBoth": impl.ShortestWithBoth, "RootOfWord": impl.RootOfWord,
+	"TurnWord": impl.TurnWord, "FirstTurn": impl.FirstTurn, "IsPrimeWord": impl.IsPrimeWord, "PrimeWords": impl.PrimeWords,
+	"CountPrimeWords": impl.CountPrimeWords, "RingWithAll": impl.RingWithAll, "HasAllWords": impl.HasAllWords, "CountNecklaces": impl.CountNecklaces,
+	"SameNecklace": impl.SameNecklace, "LongestTyped": impl.LongestTyped, "WordOfRank": impl.WordOfRank, "RankOfWord": impl.RankOfWord,
 }
 
 var badChains = []impl.Chain{
@@ -85,6 +95,21 @@ var badRaceCoins = append(slices.Clone(badCoins), impl.Coin{Heads: 1, Of: 5}, im
 
 // badRacers have one sign more than racers, if they are patterns.
 var badRacers = append(slices.Clone(badPatterns), "hhhhhh", "tttttt", "hththt", "thhhhh", "hhhhhhhh")
+
+// badTexts have other signs than letters, or too many letters.
+var badTexts = []string{
+	" ", "A", "Z", "aB", "Ba", "a b", "ab ", " ab", "ab\n", "a-b", "a,b", "`", "{", "a`", "z{", "@", "[", "1", "\x00", "a\x00b", "\xff", "a\xffb", "\xe1\xe2", "aéb", "ａ",
+	strings.Repeat("a", impl.MaxTyped+1), strings.Repeat("z", impl.MaxTyped+1), strings.Repeat("abc", 500), strings.Repeat("a", impl.MaxTyped-1) + "A",
+}
+
+// badWords may be texts.
+var badWords = append(slices.Clone(badTexts), "", "aaaaaaaaa", "zzzzzzzzz", "abcdefghi", "abababababab", strings.Repeat("a", impl.MaxTyped))
+
+// badLetters are of no alphabet.
+var badLetters = []int{math.MinInt, -26, -1, 0, impl.MaxLetters + 1, 128, 1 << 40, math.MaxInt}
+
+// badLongs are no numbers of letters of a word.
+var badLongs = []int{math.MinInt, -8, -1, 0, impl.MaxWord + 1, impl.MaxTyped, 1 << 40, math.MaxInt}
 
 func goodLists() [][]string {
 	return [][]string{
@@ -177,6 +202,32 @@ func pools() map[reflect.Type][]reflect.Value {
 		add(list)
 	}
 	for _, n := range []int{math.MinInt, -1, 0, 1, 2, 4, 5, 7, 8, 9, 12, 13, 30, 31, 40, 41, 60, 61, 200, 201, 1 << 40, math.MaxInt} {
+		add(n)
+	}
+	return p
+}
+
+// wordPools are numbers and texts alone.
+func wordPools() map[reflect.Type][]reflect.Value {
+	p := map[reflect.Type][]reflect.Value{}
+	add := func(v any) { p[reflect.TypeOf(v)] = append(p[reflect.TypeOf(v)], reflect.ValueOf(v)) }
+	for _, s := range badWords {
+		add(s)
+	}
+	for _, s := range []string{
+		"a", "b", "z", "aa", "ab", "ba", "zz", "aab", "aba", "bab", "abab", "baba", "aabaab", "abcdefg", "aaaaaaaa", "abababab", "abcdefgh", "zzzzzzzz", "tuvwxyz",
+		"aaababbb", "aaababba", "aaaabaabbababbbb", "aabacbbcc", allLetters, allLetters[:25] + "a", strings.Repeat("ab", impl.MaxTyped/2),
+	} {
+		add(s)
+	}
+	for _, size := range ringSizes() {
+		if size[0] > 1 && size[1] > 1 {
+			ring, _ := impl.RingWithAll(size[0], size[1])
+			add(ring)
+			add(ring[1:])
+		}
+	}
+	for _, n := range []int{math.MinInt, -26, -1, 0, 1, 2, 3, 4, 5, 7, 8, 9, 15, 16, 17, 18, 25, 26, 27, 30, 31, 255, 256, 300, 301, 208827064575, 208827064576, math.MaxInt} {
 		add(n)
 	}
 	return p
@@ -292,13 +343,56 @@ func scribble(results []reflect.Value) bool {
 	return true
 }
 
+// ownTexts gives each text memory of its own, so that a result in the same memory can only come from it.
+func ownTexts(args []reflect.Value) {
+	for i, v := range args {
+		if v.Kind() == reflect.String {
+			args[i] = reflect.ValueOf(strings.Clone(v.String()))
+		}
+	}
+}
+
+// sharesText tells whether a text of the results is in the memory of one of the arguments.
+func sharesText(results, args []reflect.Value) bool {
+	for _, r := range results {
+		texts, _ := r.Interface().([]string)
+		if r.Kind() == reflect.String {
+			texts = []string{r.String()}
+		}
+		for _, text := range texts {
+			for _, v := range args {
+				if v.Kind() == reflect.String && isWithin(text, v.String()) {
+					return true
+				}
+			}
+		}
+	}
+	return false
+}
+
+func isWithin(text, whole string) bool {
+	if text == "" || whole == "" {
+		return false
+	}
+	first, from := uintptr(unsafe.Pointer(unsafe.StringData(text))), uintptr(unsafe.Pointer(unsafe.StringData(whole)))
+	return first >= from && first < from+uintptr(len(whole))
+}
+
 func TestPromise11EveryFunctionAcceptsAllArguments(t *testing.T) {
-	pool := pools()
-	for name, f := range functions {
+	mustAcceptAll(t, functions, pools())
+}
+
+func TestPromise11EveryFunctionOfWordsAcceptsAllArguments(t *testing.T) {
+	mustAcceptAll(t, wordFunctions, wordPools())
+}
+
+func mustAcceptAll(t *testing.T, called map[string]any, pool map[reflect.Type][]reflect.Value) {
+	for name, f := range called {
 		t.Run(name, func(t *testing.T) {
 			fine, failed := 0, 0
 			v := reflect.ValueOf(f)
 			everyCall(v.Type(), pool, nil, func(args []reflect.Value) {
+				ownTexts(args)
 				before, behind := plain(args), spare(args)
 				defer func() {
 					if r := recover(); r != nil {
@@ -311,6 +405,9 @@ func TestPromise11EveryFunctionAcceptsAllArguments(t *testing.T) {
 					fine++
 				} else if failed++; !allZero(first) {
 					t.Fatal(name, before, "fails with", told)
+				}
+				if sharesText(first, args) {
+					t.Fatal(name, before, "gives a text of its arguments out")
 				}
 				if !scribble(first) {
 					t.Fatal(name, before, "gives lists that share memory")
@@ -428,6 +525,9 @@ func TestLimitsAreThoseOfTheDocument(t *testing.T) {
 	}
 	if impl.MaxSides != 12 || impl.MaxFairTosses != 200 {
 		t.Error(impl.MaxSides, impl.MaxFairTosses)
+	}
+	if impl.MaxLetters != 26 || impl.MaxWord != 8 || impl.MaxTyped != 60 || impl.MaxRingWords != 300 || impl.MaxTexts != 1000000000000000 {
+		t.Error(impl.MaxLetters, impl.MaxWord, impl.MaxTyped, impl.MaxRingWords, impl.MaxTexts)
 	}
 }
 
@@ -736,5 +836,140 @@ func TestLimitsOfFairTossesPassedByOne(t *testing.T) {
 	for _, n := range []int{impl.MaxPattern + 1, impl.MaxTosses, impl.MaxFairTosses, impl.MaxFairTosses + 1} {
 		mustNotTell(t, impl.ChanceOfAll, c, strings.Repeat("h", n))
 		mustNotTell(t, impl.ChanceOfAll, c, strings.Repeat("t", n))
+	}
+}
+
+func TestNoAlphabets(t *testing.T) {
+	for _, letters := range badLetters {
+		for _, w := range []string{"", "a", "z", "ab", "aaaaaaaa", "A", "aaaaaaaaa"} {
+			mustNotTell(t, impl.IsWord, letters, w)
+			mustNotTell(t, impl.MeanTyped, letters, w)
+			mustNotTell(t, impl.CountTextsWithout, letters, w, 0)
+			mustNotTell(t, impl.CountTextsWithout, letters, w, 5)
+			mustNotTell(t, impl.CountFirstTyped, letters, w, 0)
+			mustNotTell(t, impl.CountFirstTyped, letters, w, 5)
+			mustNotTell(t, impl.RankOfWord, letters, w)
+			mustNotTell(t, impl.HasAllWords, letters, 1, w)
+			mustNotTell(t, impl.HasAllWords, letters, 2, w)
+		}
+		for long := 1; long <= impl.MaxWord; long++ {
+			for _, f := range []any{impl.PrimeWords, impl.CountPrimeWords, impl.RingWithAll, impl.CountNecklaces, impl.LongestTyped} {
+				mustNotTell(t, f, letters, long)
+			}
+			mustNotTell(t, impl.WordOfRank, letters, long, 0)
+		}
+	}
+}
+
+func TestNoWords(t *testing.T) {
+	for _, w := range badWords {
+		for _, f := range []any{impl.WordOverlaps, impl.RootOfWord, impl.FirstTurn, impl.IsPrimeWord} {
+			mustNotTell(t, f, w)
+		}
+		for _, letters := range []int{1, 2, 26} {
+			mustNotTell(t, impl.MeanTyped, letters, w)
+			mustNotTell(t, impl.RankOfWord, letters, w)
+			for _, long := range []int{0, 1, 30} {
+				mustNotTell(t, impl.CountTextsWithout, letters, w, long)
+				mustNotTell(t, impl.CountFirstTyped, letters, w, long)
+			}
+		}
+		for _, other := range []string{"", "a", "ab", "zzzzzzzz", w} {
+			mustNotTell(t, impl.PlacesOfWord, w, other)
+			mustNotTell(t, impl.ShortestWithBoth, w, other)
+			mustNotTell(t, impl.ShortestWithBoth, other, w)
+			mustNotTell(t, impl.SameNecklace, w, other)
+			mustNotTell(t, impl.SameNecklace, other, w)
+		}
+		mustNotTell(t, impl.TurnWord, w, 0)
+		mustNotTell(t, impl.TurnWord, w, 1)
+	}
+}
+
+// Of each alphabet the next letter is none, though it is one of a greater one.
+func TestNoWordsOfAnAlphabet(t *testing.T) {
+	for letters := 1; letters < impl.MaxLetters; letters++ {
+		for _, letter := range allLetters[letters:] {
+			next := string(letter)
+			for _, w := range []string{next, "a" + next, next + "a", "aaa" + next + "aaaa"} {
+				mustNotTell(t, impl.MeanTyped, letters, w)
+				mustNotTell(t, impl.CountTextsWithout, letters, w, 0)
+				mustNotTell(t, impl.CountTextsWithout, letters, w, 9)
+				mustNotTell(t, impl.CountFirstTyped, letters, w, 0)
+				mustNotTell(t, impl.CountFirstTyped, letters, w, 9)
+				mustNotTell(t, impl.RankOfWord, letters, w)
+			}
+			mustNotTell(t, impl.HasAllWords, letters, 1, allLetters[:letters-1]+next)
+		}
+	}
+}
+
+func TestNoTexts(t *testing.T) {
+	for _, text := range badTexts {
+		for _, w := range []string{"a", "ab", "z", "zzzzzzzz"} {
+			mustNotTell(t, impl.PlacesOfWord, w, text)
+			mustNotTell(t, impl.PlacesOfWord, w, w+text)
+			mustNotTell(t, impl.PlacesOfWord, w, text+w)
+		}
+	}
+}
+
+func TestLimitsOfWordsPassedByOne(t *testing.T) {
+	for letters := 1; letters <= impl.MaxLetters; letters++ {
+		for _, long := range badLongs {
+			for _, f := range []any{impl.PrimeWords, impl.CountPrimeWords, impl.RingWithAll, impl.CountNecklaces, impl.LongestTyped} {
+				mustNotTell(t, f, letters, long)
+			}
+			for _, ring := range []string{"", "a", "ab", allLetters[:letters]} {
+				mustNotTell(t, impl.HasAllWords, letters, long, ring)
+			}
+			mustNotTell(t, impl.WordOfRank, letters, long, 0)
+			mustNotTell(t, impl.WordOfRank, letters, long, 1)
+		}
+		for _, long := range []int{math.MinInt, -1, 31, impl.MaxTyped, math.MaxInt} {
+			mustNotTell(t, impl.CountTextsWithout, letters, "a", long)
+			mustNotTell(t, impl.CountFirstTyped, letters, "a", long)
+		}
+		for _, rank := range []int{math.MinInt, -1, letters * letters, math.MaxInt} {
+			mustNotTell(t, impl.WordOfRank, letters, 2, rank)
+		}
+	}
+	for _, w := range typedWords(26) {
+		for _, by := range []int{math.MinInt, -len(w), -1, len(w), len(w) + 1, impl.MaxWord, math.MaxInt} {
+			mustNotTell(t, impl.TurnWord, w, by)
+		}
+	}
+}
+
+// Words that are not listed have more than they may have, and no ring is asked for.
+func TestTooManyWordsForARing(t *testing.T) {
+	for letters := 1; letters <= impl.MaxLetters; letters++ {
+		words := 1
+		for long := 1; long <= impl.MaxWord; long++ {
+			if words *= letters; words <= 300 {
+				continue
+			}
+			mustNotTell(t, impl.PrimeWords, letters, long)
+			mustNotTell(t, impl.RingWithAll, letters, long)
+			for _, ring := range []string{"", "a", allLetters[:letters], strings.Repeat("a", 300), strings.Repeat("a", min(words, 2000))} {
+				mustNotTell(t, impl.HasAllWords, letters, long, ring)
+			}
+		}
+	}
+}
+
+// A ring has as many letters as there are words, neither one less nor one more, and only letters of the alphabet.
+func TestNoRings(t *testing.T) {
+	for _, size := range ringSizes() {
+		letters, long := size[0], size[1]
+		ring, _ := impl.RingWithAll(letters, long)
+		for _, text := range []string{"", ring[1:], ring[:len(ring)-1], ring + "a", ring + ring, "A" + ring[1:], ring[1:] + " ", "\xff" + ring[1:], "`" + ring[1:], ring[1:] + "{"} {
+			mustNotTell(t, impl.HasAllWords, letters, long, text)
+		}
+		if letters < impl.MaxLetters {
+			next := allLetters[letters : letters+1]
+			mustNotTell(t, impl.HasAllWords, letters, long, next+ring[1:])
+			mustNotTell(t, impl.HasAllWords, letters, long, ring[1:]+next)
+		}
 	}
 }
