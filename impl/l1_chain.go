@@ -14,6 +14,8 @@ const (
 	wet byte = 'w'
 )
 
+const daysInOrder = "dw"
+
 type Chain struct {
 	Wets  int
 	Dries int
@@ -232,7 +234,7 @@ func LikeliestDays(c Chain, day string, days int) (string, bool) {
 	}
 	best, most := "", 0
 	for rank := range 1 << days {
-		text := daysOfRank(rank, days)
+		text := textOfRank(rank, days, daysInOrder)
 		if part := followed(c, day+text); part > most {
 			best, most = text, part
 		}
@@ -240,14 +242,12 @@ func LikeliestDays(c Chain, day string, days int) (string, bool) {
 	return best, true
 }
 
-// daysOfRank takes the highest binary digit as the first day, so that greater ranks are later texts.
-func daysOfRank(rank, days int) string {
-	text := make([]byte, days)
+// textOfRank tells a rank by two signs, as binary digits from the highest one on: greater ranks are later texts, as
+// the first sign comes before the other one.
+func textOfRank(rank, long int, inOrder string) string {
+	text := make([]byte, long)
 	for i := range text {
-		text[i] = dry
-		if rank>>(days-1-i)&1 == 1 {
-			text[i] = wet
-		}
+		text[i] = inOrder[rank>>(long-1-i)&1]
 	}
 	return string(text)
 }

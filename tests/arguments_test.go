@@ -13,7 +13,7 @@ import (
 
 // The tests of promise 11: every function accepts all arguments without panicking and modifies none of them.
 
-// functions are the exported ones of the chapters that have landed, but those of words.
+// functions are the exported ones of the chapters that have landed, but those of words and of hidden days.
 var functions = map[string]any{
 	"IsChain": impl.IsChain, "AreDays": impl.AreDays, "ChanceNext": impl.ChanceNext, "ChanceOfDays": impl.ChanceOfDays,
 	"ChanceLater": impl.ChanceLater, "LongShare": impl.LongShare, "ChanceOfAny": impl.ChanceOfAny, "MeanRun": impl.MeanRun,
@@ -48,6 +48,14 @@ var wordFunctions = map[string]any{
 	"TurnWord": impl.TurnWord, "FirstTurn": impl.FirstTurn, "IsPrimeWord": impl.IsPrimeWord, "PrimeWords": impl.PrimeWords,
 	"CountPrimeWords": impl.CountPrimeWords, "RingWithAll": impl.RingWithAll, "HasAllWords": impl.HasAllWords, "CountNecklaces": impl.CountNecklaces,
 	"SameNecklace": impl.SameNecklace, "LongestTyped": impl.LongestTyped, "WordOfRank": impl.WordOfRank, "RankOfWord": impl.RankOfWord,
+}
+
+// hiddenFunctions are called with hidden days, days, signs and texts of hidden days, and with nothing else.
+var hiddenFunctions = map[string]any{
+	"IsHidden": impl.IsHidden, "AreSigns": impl.AreSigns, "ChanceBoth": impl.ChanceBoth, "ChanceOfSigns": impl.ChanceOfSigns,
+	"ChanceOfDay": impl.ChanceOfDay, "ChanceOfHidden": impl.ChanceOfHidden, "LikeliestHidden": impl.LikeliestHidden, "CountPossible": impl.CountPossible,
+	"FirstPossible": impl.FirstPossible, "ChanceOfNextSign": impl.ChanceOfNextSign, "LikeliestSigns": impl.LikeliestSigns, "MeanSigns": impl.MeanSigns,
+	"DayByDay": impl.DayByDay, "DoSignsTell": impl.DoSignsTell, "TurnHidden": impl.TurnHidden, "HiddenText": impl.HiddenText, "ParseHidden": impl.ParseHidden,
 }
 
 var badChains = []impl.Chain{
@@ -110,6 +118,27 @@ var badLetters = []int{math.MinInt, -26, -1, 0, impl.MaxLetters + 1, 128, 1 << 4
 
 // badLongs are no numbers of letters of a word.
 var badLongs = []int{math.MinInt, -8, -1, 0, impl.MaxWord + 1, impl.MaxTyped, 1 << 40, math.MaxInt}
+
+// badUmbrellas are no signs, however many of these there may be.
+var badUmbrellas = []string{
+	" ", "x", "d", "w", "U", "N", "UN", "ux", "xu", "uxu", "u n", "un ", " un", "un\n", "u,n", "?", "ud", "\x00", "u\x00n", "\xff", "u\xffn", "\xf5\xee", "uén", "ｕ",
+}
+
+// badSignTexts are none either.
+var badSignTexts = append(slices.Clone(badUmbrellas), "", "uuuuuuu", "nnnnnnn", "unnuunu", strings.Repeat("u", impl.MaxSeen), strings.Repeat("un", 500), "nnnnnnU", "uuuuux")
+
+// badSign are what is no sign, though it may be signs.
+var badSign = append(slices.Clone(badSignTexts), "uu", "nn", "un", "nu", "uuuuuu", "nnunnu")
+
+// badHidden have a chain or umbrellas that are none.
+func badHidden() []impl.Hidden {
+	good := impl.Chain{Wets: 1, Dries: 2, Of: 4}
+	var list []impl.Hidden
+	for _, bad := range badChains {
+		list = append(list, hidden(bad, good), hidden(good, bad), hidden(bad, bad))
+	}
+	return list
+}
 
 func goodLists() [][]string {
 	return [][]string{
@@ -228,6 +257,30 @@ func wordPools() map[reflect.Type][]reflect.Value {
 		}
 	}
 	for _, n := range []int{math.MinInt, -26, -1, 0, 1, 2, 3, 4, 5, 7, 8, 9, 15, 16, 17, 18, 25, 26, 27, 30, 31, 255, 256, 300, 301, 208827064575, 208827064576, math.MaxInt} {
+		add(n)
+	}
+	return p
+}
+
+// hiddenPools are hidden days, numbers and texts alone.
+func hiddenPools() map[reflect.Type][]reflect.Value {
+	p := map[reflect.Type][]reflect.Value{}
+	add := func(v any) { p[reflect.TypeOf(v)] = append(p[reflect.TypeOf(v)], reflect.ValueOf(v)) }
+	for _, h := range badHidden() {
+		add(h)
+	}
+	for _, c := range []impl.Chain{{Of: 1}, {Wets: 3, Dries: 7, Of: 10}, {Wets: 2, Dries: 2, Of: 2}} {
+		for _, umbrellas := range []impl.Chain{{Of: 1}, {Dries: 10, Of: 10}, {Wets: 3, Dries: 9, Of: 10}, {Wets: 2, Dries: 2, Of: 3}} {
+			add(hidden(c, umbrellas))
+		}
+	}
+	for _, s := range []string{
+		"", " ", "x", "U", "D", "ux", "un ", "dn", "\x00", "\xff", "\xf5", "ｕ", "uuuuuuu", "ddddddd", "wwwwwwww", strings.Repeat("un", 500), strings.Repeat("d", impl.MaxSeen+1),
+		"u", "n", "nu", "uuuuuu", "nnunnu", "d", "w", "dw", "wwwwww", "ddwddw", "1-2/4:0-1/2", "10-10/10:10-10/10", "1-2/4:", ":0-1/2", "::", "1-2/4:0-1/2:0-1/2",
+	} {
+		add(s)
+	}
+	for _, n := range []int{math.MinInt, -1, 0, 1, 5, 6, 7, 8, math.MaxInt} {
 		add(n)
 	}
 	return p
@@ -386,6 +439,10 @@ func TestPromise11EveryFunctionOfWordsAcceptsAllArguments(t *testing.T) {
 	mustAcceptAll(t, wordFunctions, wordPools())
 }
 
+func TestPromise11EveryFunctionOfHiddenDaysAcceptsAllArguments(t *testing.T) {
+	mustAcceptAll(t, hiddenFunctions, hiddenPools())
+}
+
 func mustAcceptAll(t *testing.T, called map[string]any, pool map[reflect.Type][]reflect.Value) {
 	for name, f := range called {
 		t.Run(name, func(t *testing.T) {
@@ -528,6 +585,9 @@ func TestLimitsAreThoseOfTheDocument(t *testing.T) {
 	}
 	if impl.MaxLetters != 26 || impl.MaxWord != 8 || impl.MaxTyped != 60 || impl.MaxRingWords != 300 || impl.MaxTexts != 1000000000000000 {
 		t.Error(impl.MaxLetters, impl.MaxWord, impl.MaxTyped, impl.MaxRingWords, impl.MaxTexts)
+	}
+	if impl.MaxSigns != 6 {
+		t.Error(impl.MaxSigns)
 	}
 }
 
@@ -971,5 +1031,100 @@ func TestNoRings(t *testing.T) {
 			mustNotTell(t, impl.HasAllWords, letters, long, next+ring[1:])
 			mustNotTell(t, impl.HasAllWords, letters, long, ring[1:]+next)
 		}
+	}
+}
+
+func TestNoHiddenDays(t *testing.T) {
+	for _, h := range badHidden() {
+		mustNotTell(t, impl.IsHidden, h)
+		for _, signs := range []string{"u", "n", "nu", "unnuun"} {
+			days := strings.Repeat("d", len(signs))
+			mustNotTell(t, impl.ChanceBoth, h, days, signs)
+			mustNotTell(t, impl.ChanceOfHidden, h, signs, days)
+			for _, f := range []any{impl.ChanceOfSigns, impl.LikeliestHidden, impl.CountPossible, impl.FirstPossible, impl.DayByDay} {
+				mustNotTell(t, f, h, signs)
+			}
+			mustNotTell(t, impl.ChanceOfDay, h, signs, 0, "d")
+			mustNotTell(t, impl.ChanceOfDay, h, signs, len(signs)-1, "w")
+			mustNotTell(t, impl.ChanceOfNextSign, h, signs, "u")
+			mustNotTell(t, impl.ChanceOfNextSign, h, signs, "n")
+		}
+		for many := range impl.MaxSigns + 1 {
+			mustNotTell(t, impl.LikeliestSigns, h, many)
+			mustNotTell(t, impl.MeanSigns, h, many)
+		}
+		for _, f := range []any{impl.DoSignsTell, impl.TurnHidden, impl.HiddenText} {
+			mustNotTell(t, f, h)
+		}
+	}
+}
+
+// someHidden tell something and nothing, and by some of them not all signs can come.
+func someHidden(t *testing.T) []impl.Hidden {
+	t.Helper()
+	return []impl.Hidden{mustParseHidden(t, "1-2/4:1-3/4"), mustParseHidden(t, "0-0/1:0-0/1"), mustParseHidden(t, "1-1/1:1-1/1"), mustParseHidden(t, "3-7/10:0-10/10")}
+}
+
+func TestNoSigns(t *testing.T) {
+	for _, h := range someHidden(t) {
+		for _, signs := range badSignTexts {
+			mustNotTell(t, impl.AreSigns, signs)
+			for _, f := range []any{impl.ChanceOfSigns, impl.LikeliestHidden, impl.CountPossible, impl.FirstPossible, impl.DayByDay} {
+				mustNotTell(t, f, h, signs)
+			}
+			for _, days := range []string{"", "d", "w", strings.Repeat("d", len(signs)), strings.Repeat("w", impl.MaxSigns), signs} {
+				mustNotTell(t, impl.ChanceBoth, h, days, signs)
+				mustNotTell(t, impl.ChanceOfHidden, h, signs, days)
+			}
+			for k := range impl.MaxSigns + 1 {
+				mustNotTell(t, impl.ChanceOfDay, h, signs, k, "d")
+				mustNotTell(t, impl.ChanceOfDay, h, signs, k, "w")
+			}
+			mustNotTell(t, impl.ChanceOfNextSign, h, signs, "u")
+			mustNotTell(t, impl.ChanceOfNextSign, h, signs, "n")
+		}
+		for _, sign := range badSign {
+			for _, signs := range []string{"u", "n", "nu", "nnnnnn"} {
+				mustNotTell(t, impl.ChanceOfNextSign, h, signs, sign)
+			}
+		}
+	}
+}
+
+// Days are as many as signs, neither one less nor one more, and a day is one alone.
+func TestNoDaysOfSigns(t *testing.T) {
+	for _, h := range someHidden(t) {
+		for _, signs := range []string{"u", "n", "nu", "nnn", "uuuuuu", "nnnnnn"} {
+			bad := slices.Clone(badDays)
+			for _, day := range kinds {
+				for _, many := range []int{len(signs) - 1, len(signs) + 1, impl.MaxDays, impl.MaxSeen} {
+					bad = append(bad, strings.Repeat(day, many))
+				}
+				bad = append(bad, strings.Repeat(day, len(signs)-1)+"x", "D"+strings.Repeat(day, len(signs)-1), strings.Repeat(day, len(signs)-1)+"\xff")
+			}
+			for _, days := range append(bad, signs) {
+				mustNotTell(t, impl.ChanceBoth, h, days, signs)
+				mustNotTell(t, impl.ChanceOfHidden, h, signs, days)
+			}
+			for k := range len(signs) {
+				for _, day := range append(slices.Clone(badDay), "u", "n") {
+					mustNotTell(t, impl.ChanceOfDay, h, signs, k, day)
+				}
+			}
+			for _, k := range []int{math.MinInt, -6, -1, len(signs), len(signs) + 1, 63, 64, math.MaxInt} {
+				mustNotTell(t, impl.ChanceOfDay, h, signs, k, "d")
+				mustNotTell(t, impl.ChanceOfDay, h, signs, k, "w")
+			}
+		}
+	}
+}
+
+func TestLimitsOfSignsPassedByOne(t *testing.T) {
+	for _, h := range someHidden(t) {
+		for _, many := range []int{math.MinInt, -2, -1, impl.MaxSigns + 1, impl.MaxDays, 64, math.MaxInt} {
+			mustNotTell(t, impl.LikeliestSigns, h, many)
+			mustNotTell(t, impl.MeanSigns, h, many)
+		}
+		mustNotTell(t, impl.LikeliestSigns, h, 0)
 	}
 }
