@@ -93,7 +93,8 @@ func commonDivisor(a, b int) int {
 	return a
 }
 
-// lowestTerms needs a den of at least 1: then it makes 0 / den to 0 / 1, too.
+// lowestTerms needs a den of at least 1, or a num of at most 0 and a den below,
+// as their common divisor is negative then, too. It makes 0 / den to 0 / 1.
 func lowestTerms(num, den int) (int, int) {
 	d := commonDivisor(num, den)
 	return num / d, den / d

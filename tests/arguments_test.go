@@ -13,7 +13,7 @@ import (
 
 // The tests of promise 11: every function accepts all arguments without panicking and modifies none of them.
 
-// functions are the exported ones of the chapters that have landed, but those of words and of hidden days.
+// functions are the exported ones of the chapters that have landed, but those of words, of hidden days and of stakes.
 var functions = map[string]any{
 	"IsChain": impl.IsChain, "AreDays": impl.AreDays, "ChanceNext": impl.ChanceNext, "ChanceOfDays": impl.ChanceOfDays,
 	"ChanceLater": impl.ChanceLater, "LongShare": impl.LongShare, "ChanceOfAny": impl.ChanceOfAny, "MeanRun": impl.MeanRun,
@@ -56,6 +56,15 @@ var hiddenFunctions = map[string]any{
 	"ChanceOfDay": impl.ChanceOfDay, "ChanceOfHidden": impl.ChanceOfHidden, "LikeliestHidden": impl.LikeliestHidden, "CountPossible": impl.CountPossible,
 	"FirstPossible": impl.FirstPossible, "ChanceOfNextSign": impl.ChanceOfNextSign, "LikeliestSigns": impl.LikeliestSigns, "MeanSigns": impl.MeanSigns,
 	"DayByDay": impl.DayByDay, "DoSignsTell": impl.DoSignsTell, "TurnHidden": impl.TurnHidden, "HiddenText": impl.HiddenText, "ParseHidden": impl.ParseHidden,
+}
+
+// stakeFunctions are called with coins, stakes, tosses, texts of stakes and lists of stakes, and with numbers up to those of money.
+var stakeFunctions = map[string]any{
+	"AreStakes": impl.AreStakes, "ChanceOfGoal": impl.ChanceOfGoal, "ChanceOfRuin": impl.ChanceOfRuin, "MeanPlays": impl.MeanPlays,
+	"BoldStake": impl.BoldStake, "BoldPath": impl.BoldPath, "BoldWithin": impl.BoldWithin, "TimidWithin": impl.TimidWithin, "MostWithin": impl.MostWithin,
+	"BestStakes": impl.BestStakes, "PlayStakes": impl.PlayStakes, "MeanPurse": impl.MeanPurse, "IsFairPlay": impl.IsFairPlay,
+	"CountRuins": impl.CountRuins, "CountGoals": impl.CountGoals, "CountInPlay": impl.CountInPlay, "NeededPurse": impl.NeededPurse,
+	"TurnStakes": impl.TurnStakes, "StakesText": impl.StakesText, "ParseStakes": impl.ParseStakes,
 }
 
 var badChains = []impl.Chain{
@@ -138,6 +147,22 @@ func badHidden() []impl.Hidden {
 		list = append(list, hidden(bad, good), hidden(good, bad), hidden(bad, bad))
 	}
 	return list
+}
+
+var badStakes = []impl.Stakes{
+	{}, {Purse: 1}, {Purse: -1}, {Goal: -1}, {Purse: -1, Goal: -1}, {Purse: -1, Goal: 8}, {Purse: 9, Goal: 8}, {Purse: 2, Goal: 1}, {Purse: -1, Goal: 1},
+	{Goal: impl.MaxPurse + 1}, {Purse: 8, Goal: impl.MaxPurse + 1}, {Purse: impl.MaxPurse + 1, Goal: impl.MaxPurse + 1}, {Purse: impl.MaxPurse + 1, Goal: impl.MaxPurse},
+	{Purse: math.MinInt, Goal: 8}, {Purse: math.MaxInt, Goal: 8}, {Purse: 8, Goal: math.MinInt}, {Purse: 8, Goal: math.MaxInt}, {Goal: math.MaxInt}, {Goal: math.MinInt},
+	{Purse: math.MinInt, Goal: math.MinInt}, {Purse: math.MaxInt, Goal: math.MaxInt}, {Purse: math.MinInt, Goal: math.MaxInt}, {Purse: math.MaxInt, Goal: math.MinInt},
+}
+
+// badStakesTexts are of no stakes, or are not written as they are told.
+var badStakesTexts = []string{
+	"", "of", "3", "8", "38", "3of", "of8", "3o8", "3f8", "3fo8", "3oof8", "3off8", "3ofof8", "3of8of", "of3of8", "3of8of8", "3OF8", "3Of8", "3/8", "3-8", "3,8", "3 8",
+	"3 of 8", "3 of8", "3of 8", " 3of8", "3of8 ", "3of8\n", "\t3of8", "3of8\x00", "\x003of8", "\xff", "3of\xff", "\xb3of8", "３of8", "٣of٨", "3ｏｆ8",
+	"03of8", "3of08", "00of8", "+3of8", "3of+8", "-0of8", "-3of8", "3of-8", "-3of-8", "0x3of8", "3of0x8", "3.0of8", "3of8.", "1_0of12", "3of1_0", "1e1of12", "3of1e1",
+	"0of0", "1of0", "9of8", "0of17", "8of17", "17of17", "17of16", "99999999999999999999of8", "3of99999999999999999999", "9223372036854775808of8", "-9223372036854775808of16",
+	"threeofeight", "hofh", "ht", strings.Repeat("3of8", 500), strings.Repeat("0", 500) + "3of8", "3of" + strings.Repeat("0", 500) + "8", strings.Repeat("of", 500),
 }
 
 func goodLists() [][]string {
@@ -281,6 +306,33 @@ func hiddenPools() map[reflect.Type][]reflect.Value {
 		add(s)
 	}
 	for _, n := range []int{math.MinInt, -1, 0, 1, 5, 6, 7, 8, math.MaxInt} {
+		add(n)
+	}
+	return p
+}
+
+// stakePools have coins, stakes, numbers, texts and lists of numbers.
+func stakePools() map[reflect.Type][]reflect.Value {
+	p := map[reflect.Type][]reflect.Value{}
+	add := func(v any) { p[reflect.TypeOf(v)] = append(p[reflect.TypeOf(v)], reflect.ValueOf(v)) }
+	for _, c := range append(slices.Clone(badCoins), impl.Coin{Heads: 1, Of: 2}, impl.Coin{Heads: 1, Of: 3}, impl.Coin{Heads: 9, Of: 10}) {
+		add(c)
+	}
+	for _, s := range append(slices.Clone(badStakes), []impl.Stakes{
+		{Goal: 1}, {Purse: 1, Goal: 1}, {Purse: 1, Goal: 2}, {Goal: 8}, {Purse: 3, Goal: 8}, {Purse: 8, Goal: 8}, {Goal: 16}, {Purse: 8, Goal: 16}, {Purse: 15, Goal: 16}, {Purse: 16, Goal: 16},
+	}...) {
+		add(s)
+	}
+	for _, s := range append(slices.Clone(badTosses), "", "h", "t", "htt", "hthhttth", strings.Repeat("ht", impl.MaxTosses/2), "3of8", "0of1", "16of16", "17of17", "03of8", "of") {
+		add(s)
+	}
+	for _, list := range [][]int{
+		nil, {}, {0}, {1}, {-1}, {2, 1}, {3, 2, 1}, {3, 3, 3}, []int{1, 1, 1, 88, 88}[:3], []int{3, 2, 99}[:0], {1, 0}, {1, -1}, {3, 99}, {8, 8, 8}, {math.MinInt}, {math.MaxInt}, {1, math.MinInt},
+		slices.Repeat([]int{1}, impl.MaxStakes), slices.Repeat([]int{1}, impl.MaxStakes+1), slices.Repeat([]int{-1}, impl.MaxStakes), make([]int, 3000),
+	} {
+		add(list)
+	}
+	for _, n := range []int{math.MinInt, -1, 0, 1, 2, 3, 6, 7, 8, 16, 17, 30, 31, 1000, 1001, 1 << 40, math.MaxInt} {
 		add(n)
 	}
 	return p
@@ -443,6 +495,10 @@ func TestPromise11EveryFunctionOfHiddenDaysAcceptsAllArguments(t *testing.T) {
 	mustAcceptAll(t, hiddenFunctions, hiddenPools())
 }
 
+func TestPromise11EveryFunctionOfStakesAcceptsAllArguments(t *testing.T) {
+	mustAcceptAll(t, stakeFunctions, stakePools())
+}
+
 func mustAcceptAll(t *testing.T, called map[string]any, pool map[reflect.Type][]reflect.Value) {
 	for name, f := range called {
 		t.Run(name, func(t *testing.T) {
@@ -588,6 +644,9 @@ func TestLimitsAreThoseOfTheDocument(t *testing.T) {
 	}
 	if impl.MaxSigns != 6 {
 		t.Error(impl.MaxSigns)
+	}
+	if impl.MaxPurse != 16 || impl.MaxPlays != 6 || impl.MaxStakes != 40 {
+		t.Error(impl.MaxPurse, impl.MaxPlays, impl.MaxStakes)
 	}
 }
 
@@ -1126,5 +1185,123 @@ func TestLimitsOfSignsPassedByOne(t *testing.T) {
 			mustNotTell(t, impl.MeanSigns, h, many)
 		}
 		mustNotTell(t, impl.LikeliestSigns, h, 0)
+	}
+}
+
+func TestNoStakes(t *testing.T) {
+	c := impl.Coin{Heads: 1, Of: 3}
+	for _, s := range badStakes {
+		for _, f := range []any{impl.AreStakes, impl.BoldStake, impl.TurnStakes, impl.StakesText} {
+			mustNotTell(t, f, s)
+		}
+		for _, f := range []any{impl.ChanceOfGoal, impl.ChanceOfRuin, impl.MeanPlays} {
+			mustNotTell(t, f, c, s)
+		}
+		for plays := range impl.MaxPlays + 1 {
+			for _, f := range []any{impl.BoldWithin, impl.TimidWithin, impl.MostWithin, impl.BestStakes} {
+				mustNotTell(t, f, c, s, plays)
+			}
+			for _, f := range []any{impl.CountRuins, impl.CountGoals, impl.CountInPlay} {
+				mustNotTell(t, f, s, plays)
+			}
+		}
+		for _, tosses := range []string{"", "h", "tth"} {
+			mustNotTell(t, impl.BoldPath, s, tosses)
+			for _, list := range [][]int{nil, {1}, {1, 2, 3}} {
+				mustNotTell(t, impl.PlayStakes, s, list, tosses)
+			}
+		}
+	}
+	for _, text := range badStakesTexts {
+		mustNotTell(t, impl.ParseStakes, text)
+	}
+	for _, goal := range []int{math.MinInt, -8, -1, 0, impl.MaxPurse + 1, math.MaxInt} {
+		mustNotTell(t, impl.NeededPurse, c, goal, 0, 1)
+		mustNotTell(t, impl.NeededPurse, c, goal, 1, 2)
+		mustNotTell(t, impl.NeededPurse, c, goal, 1, 1)
+	}
+}
+
+// Coins are asked for where nothing depends on them, too.
+func TestNoCoinsOfStakes(t *testing.T) {
+	for _, c := range badCoins {
+		for _, s := range allStakes() {
+			for _, f := range []any{impl.ChanceOfGoal, impl.ChanceOfRuin, impl.MeanPlays} {
+				mustNotTell(t, f, c, s)
+			}
+			for _, f := range []any{impl.BoldWithin, impl.TimidWithin, impl.MostWithin, impl.BestStakes} {
+				mustNotTell(t, f, c, s, 0)
+				mustNotTell(t, f, c, s, 1)
+				mustNotTell(t, f, c, s, impl.MaxPlays)
+			}
+		}
+		for _, n := range []int{0, 1, 1000} {
+			mustNotTell(t, impl.MeanPurse, c, n, 0)
+			mustNotTell(t, impl.MeanPurse, c, n, n)
+			mustNotTell(t, impl.IsFairPlay, c, 0, n)
+			mustNotTell(t, impl.IsFairPlay, c, n, n)
+			mustNotTell(t, impl.NeededPurse, c, 8, n, 1000)
+		}
+	}
+}
+
+func TestNoTossesOfStakes(t *testing.T) {
+	for _, text := range []string{"0of1", "1of1", "0of16", "3of8", "16of16", "8of16"} {
+		s := mustParseStakes(t, text)
+		for _, tosses := range badTosses {
+			// The game may be over, or the list may have ended, before the toss that is none.
+			for _, tosses := range []string{tosses, "h" + tosses, tosses + "t"} {
+				mustNotTell(t, impl.BoldPath, s, tosses)
+				for _, list := range [][]int{nil, {1}, {1, 1, 1, 1, 1, 1}} {
+					mustNotTell(t, impl.PlayStakes, s, list, tosses)
+				}
+			}
+		}
+	}
+}
+
+func TestLimitsOfStakesPassedByOne(t *testing.T) {
+	c := impl.Coin{Heads: 3, Of: 4}
+	for _, s := range allStakes() {
+		for _, plays := range []int{math.MinInt, -2, -1, impl.MaxPlays + 1, 30, 64, math.MaxInt} {
+			for _, f := range []any{impl.BoldWithin, impl.TimidWithin, impl.MostWithin, impl.BestStakes} {
+				mustNotTell(t, f, c, s, plays)
+			}
+		}
+		for _, plays := range []int{math.MinInt, -2, -1, 31, impl.MaxTosses, 64, math.MaxInt} {
+			for _, f := range []any{impl.CountRuins, impl.CountGoals, impl.CountInPlay} {
+				mustNotTell(t, f, s, plays)
+			}
+		}
+		for _, tosses := range []string{"", "h", strings.Repeat("ht", impl.MaxTosses/2)} {
+			mustNotTell(t, impl.PlayStakes, s, slices.Repeat([]int{1}, impl.MaxStakes+1), tosses)
+			mustNotTell(t, impl.PlayStakes, s, make([]int, 3000), tosses)
+		}
+	}
+}
+
+func TestLimitsOfMoneyPassedByOne(t *testing.T) {
+	coins := []impl.Coin{{Heads: 1, Of: 2}, {Heads: 1, Of: 10}, {Heads: 9, Of: 10}}
+	for _, c := range coins {
+		for _, purse := range []int{math.MinInt, -1, 1001, math.MaxInt} {
+			for _, stake := range []int{math.MinInt, -1, 0, 1, 1000, purse, math.MaxInt} {
+				mustNotTell(t, impl.MeanPurse, c, purse, stake)
+			}
+			for _, other := range []int{0, 1, 1000, purse} {
+				mustNotTell(t, impl.IsFairPlay, c, purse, other)
+				mustNotTell(t, impl.IsFairPlay, c, other, purse)
+				mustNotTell(t, impl.NeededPurse, c, 8, purse, 1000)
+			}
+		}
+		for _, purse := range []int{0, 1, 2, 500, 1000} {
+			for _, stake := range []int{math.MinInt, -1, purse + 1, 1001, math.MaxInt} {
+				mustNotTell(t, impl.MeanPurse, c, purse, stake)
+			}
+		}
+		for _, den := range []int{math.MinInt, -1000, -1, 0, 1001, math.MaxInt} {
+			for _, num := range []int{0, 1, 1000} {
+				mustNotTell(t, impl.NeededPurse, c, 8, num, den)
+			}
+		}
 	}
 }
