@@ -13,7 +13,7 @@ import (
 
 // The tests of promise 11: every function accepts all arguments without panicking and modifies none of them.
 
-// functions are the exported ones of the chapters that have landed, but those of words, of hidden days and of stakes.
+// functions are the exported ones of the chapters that have landed, but those of words, of hidden days, of stakes and of puzzles.
 var functions = map[string]any{
 	"IsChain": impl.IsChain, "AreDays": impl.AreDays, "ChanceNext": impl.ChanceNext, "ChanceOfDays": impl.ChanceOfDays,
 	"ChanceLater": impl.ChanceLater, "LongShare": impl.LongShare, "ChanceOfAny": impl.ChanceOfAny, "MeanRun": impl.MeanRun,
@@ -65,6 +65,14 @@ var stakeFunctions = map[string]any{
 	"BestStakes": impl.BestStakes, "PlayStakes": impl.PlayStakes, "MeanPurse": impl.MeanPurse, "IsFairPlay": impl.IsFairPlay,
 	"CountRuins": impl.CountRuins, "CountGoals": impl.CountGoals, "CountInPlay": impl.CountInPlay, "NeededPurse": impl.NeededPurse,
 	"TurnStakes": impl.TurnStakes, "StakesText": impl.StakesText, "ParseStakes": impl.ParseStakes,
+}
+
+// puzzleFunctions are called with clues, puzzles, chains, texts of puzzles, and indices, numbers of clues and seeds.
+var puzzleFunctions = map[string]any{
+	"IsClue": impl.IsClue, "IsPuzzle": impl.IsPuzzle, "DoesFit": impl.DoesFit, "Solutions": impl.Solutions, "CountSolutions": impl.CountSolutions,
+	"FirstSolution": impl.FirstSolution, "SureChain": impl.SureChain, "IsSolved": impl.IsSolved, "NeedlessClues": impl.NeedlessClues,
+	"DropClue": impl.DropClue, "AddClue": impl.AddClue, "LeftByClues": impl.LeftByClues, "BestClue": impl.BestClue, "HarderPuzzle": impl.HarderPuzzle,
+	"MakePuzzle": impl.MakePuzzle, "PuzzleText": impl.PuzzleText, "ParsePuzzle": impl.ParsePuzzle,
 }
 
 var badChains = []impl.Chain{
@@ -163,6 +171,67 @@ var badStakesTexts = []string{
 	"03of8", "3of08", "00of8", "+3of8", "3of+8", "-0of8", "-3of8", "3of-8", "-3of-8", "0x3of8", "3of0x8", "3.0of8", "3of8.", "1_0of12", "3of1_0", "1e1of12", "3of1e1",
 	"0of0", "1of0", "9of8", "0of17", "8of17", "17of17", "17of16", "99999999999999999999of8", "3of99999999999999999999", "9223372036854775808of8", "-9223372036854775808of16",
 	"threeofeight", "hofh", "ht", strings.Repeat("3of8", 500), strings.Repeat("0", 500) + "3of8", "3of" + strings.Repeat("0", 500) + "8", strings.Repeat("of", 500),
+}
+
+var goodClues = []impl.Clue{
+	{}, {B: 1}, {Kind: 1}, {Kind: 1, B: 3}, {Kind: 1, B: 100}, {Kind: 2}, {Kind: 2, B: 2}, {Kind: 2, B: 100}, {Kind: 5}, {Kind: 5, B: 6}, {Kind: 5, B: 100},
+	{Kind: 3, B: 1}, {Kind: 3, A: 1, B: 3}, {Kind: 3, A: 2, B: 6}, {Kind: 3, A: 100, B: 1}, {Kind: 3, A: 100, B: 100},
+	{Kind: 4, B: 1}, {Kind: 4, A: 4, B: 1}, {Kind: 4, A: 100, B: 1}, {Kind: 4, B: 100}, {Kind: 4, A: 100, B: 100},
+}
+
+// badClues have a kind that is none, or one number that is none of their kind.
+var badClues = []impl.Clue{
+	{Kind: -1}, {Kind: 6}, {Kind: -1, A: 1, B: 1}, {Kind: 6, A: 1, B: 1}, {Kind: 7, B: 1}, {Kind: 100, B: 1}, {Kind: math.MinInt}, {Kind: math.MaxInt},
+	{B: -1}, {B: 2}, {B: 100}, {A: 1}, {A: -1}, {A: 1, B: 1}, {A: 100, B: 1}, {B: math.MinInt}, {B: math.MaxInt}, {A: math.MinInt}, {A: math.MaxInt, B: 1},
+	{Kind: 1, B: -1}, {Kind: 1, B: 101}, {Kind: 1, A: 1}, {Kind: 1, A: -1, B: 3}, {Kind: 1, A: 1, B: 3}, {Kind: 1, B: math.MinInt}, {Kind: 1, B: math.MaxInt}, {Kind: 1, A: math.MaxInt, B: 3},
+	{Kind: 2, B: -1}, {Kind: 2, B: 101}, {Kind: 2, A: 1}, {Kind: 2, A: -1, B: 3}, {Kind: 2, A: 1, B: 3}, {Kind: 2, B: math.MinInt}, {Kind: 2, B: math.MaxInt}, {Kind: 2, A: math.MinInt, B: 3},
+	{Kind: 5, B: -1}, {Kind: 5, B: 101}, {Kind: 5, A: 1}, {Kind: 5, A: -1, B: 3}, {Kind: 5, A: 1, B: 3}, {Kind: 5, B: math.MinInt}, {Kind: 5, B: math.MaxInt}, {Kind: 5, A: math.MaxInt, B: 3},
+	{Kind: 3}, {Kind: 3, A: 1}, {Kind: 3, A: 1, B: -3}, {Kind: 3, A: -1, B: 3}, {Kind: 3, A: -1, B: -3}, {Kind: 3, A: 1, B: 101}, {Kind: 3, A: 101, B: 1}, {Kind: 3, A: 101, B: 101},
+	{Kind: 3, A: math.MinInt, B: 3}, {Kind: 3, A: math.MaxInt, B: 3}, {Kind: 3, A: 1, B: math.MinInt}, {Kind: 3, A: 1, B: math.MaxInt}, {Kind: 3, A: math.MinInt, B: math.MinInt},
+	{Kind: 4}, {Kind: 4, A: 4}, {Kind: 4, A: 4, B: -1}, {Kind: 4, A: -4, B: 1}, {Kind: 4, A: -4, B: -1}, {Kind: 4, A: 4, B: 101}, {Kind: 4, A: 101, B: 1}, {Kind: 4, A: 101, B: 101},
+	{Kind: 4, A: math.MinInt, B: 1}, {Kind: 4, A: math.MaxInt, B: 1}, {Kind: 4, A: 4, B: math.MinInt}, {Kind: 4, A: 4, B: math.MaxInt}, {Kind: 4, A: math.MaxInt, B: math.MaxInt},
+}
+
+// goodPuzzles are made anew each time: some have room behind their clues.
+func goodPuzzles() []impl.Puzzle {
+	return []impl.Puzzle{
+		{Of: 1}, {Of: 8}, {Of: 4, Clues: []impl.Clue{}}, {Of: 4, Clues: slices.Clone(badClues)[:0]}, {Of: 1, Clues: []impl.Clue{{B: 1}}}, {Of: 2, Clues: []impl.Clue{{B: 1}}},
+		{Of: 4, Clues: []impl.Clue{{Kind: 3, A: 1, B: 3}, {Kind: 1, B: 3}}}, {Of: 3, Clues: []impl.Clue{{Kind: 3, A: 1, B: 3}, {Kind: 4, A: 3, B: 2}}},
+		{Of: 4, Clues: []impl.Clue{{Kind: 3, A: 1, B: 3}, {Kind: 1, B: 3}, {B: 1}, {Kind: 77}, {Kind: 88}}[:3]},
+		{Of: 4, Clues: []impl.Clue{{B: 1}, {Kind: 3, A: 1, B: 3}, {Kind: 1, B: 3}, {B: 1}, {Kind: 77}, {Kind: 88}}[:4]},
+		{Of: 8, Clues: slices.Repeat([]impl.Clue{{Kind: 1, B: 16}}, impl.MaxClues)}, {Of: 8, Clues: slices.Repeat([]impl.Clue{{Kind: 4, A: 100, B: 100}}, impl.MaxClues)},
+		{Of: 8, Clues: append(slices.Repeat([]impl.Clue{{}}, impl.MaxClues), impl.Clue{Kind: 88})[:impl.MaxClues]},
+	}
+}
+
+// badPuzzles are made anew each time, too.
+func badPuzzles() []impl.Puzzle {
+	good := []impl.Clue{{Kind: 3, A: 1, B: 3}, {Kind: 1, B: 3}, {B: 1}, {}, {Kind: 2, B: 2}}
+	list := []impl.Puzzle{
+		{}, {Clues: good[:1]}, {Of: 8, Clues: slices.Repeat(good[:1], impl.MaxClues+1)}, {Of: 8, Clues: make([]impl.Clue, 3000)},
+		// There is no solution before the clue that is none.
+		{Of: 1, Clues: []impl.Clue{{B: 1}, {}, {Kind: 6}}}, {Of: 3, Clues: []impl.Clue{{Kind: 3, A: 1, B: 3}, {Kind: 4, A: 3, B: 2}, {Kind: 4, A: 3}}},
+	}
+	for _, of := range []int{math.MinInt, -4, -1, 0, impl.MaxHidden + 1, impl.MaxOf, impl.MaxOf + 1, 1 << 40, math.MaxInt} {
+		list = append(list, impl.Puzzle{Of: of}, impl.Puzzle{Of: of, Clues: slices.Clone(good)})
+	}
+	for _, c := range badClues {
+		list = append(list, impl.Puzzle{Of: 4, Clues: []impl.Clue{c}}, impl.Puzzle{Of: 4, Clues: append([]impl.Clue{c}, good...)}, impl.Puzzle{Of: 4, Clues: append(slices.Clone(good), c)})
+	}
+	return list
+}
+
+// badPuzzleTexts are of no puzzle, or are not written as they are told.
+var badPuzzleTexts = []string{
+	"", ":", "4", "4.", "4,", "4;", ":3.1.3", "3.1.3", "4:3.1.3,", "4:,3.1.3", "4:,", "4:3.1.3,,1.0.3", "4:3.1.3,1.0.3,", "4::", "4::3.1.3", "4:3.1.3:", "4:3.1.3:1.0.3", "4:3.1.3;1.0.3",
+	"4:.", "4:..", "4:3", "4:3.1", "4:3.1.", "4:3..3", "4:.1.3", "4:3.1.3.", "4:3.1.3.0", "4:.3.1.3", "4:3,1,3", "4:3-1-3", "4:3.1/3", "4:1.3", "4:1..3", "4:1.0.3.1.0.3", "4:1.0.31.0.3",
+	" 4:1.0.3", "4 :1.0.3", "4: 1.0.3", "4:1.0.3 ", "4:1. 0.3", "4:1.0.3, 1.0.3", "4:1.0.3\n", "\n4:", "4:\n", "4:1.0.3\x00", "4:\x00", "\xff", "\xff:", "4:\xff.0.3", "４:1.0.3", "4:1.0.٣", "4：1.0.3",
+	"04:", "+4:", "-4:", "4.0:", "0x4:", "1e0:", "4:01.0.3", "4:1.00.3", "4:1.0.03", "4:+1.0.3", "4:1.+0.3", "4:1.-0.3", "4:1.0.+3", "4:-0.0.1", "4:0.0.0_1", "4:1.0.3e0", "four:",
+	"0:", "9:", "10:", "-1:", "9:1.0.3", "0:0.0.0", "4:6.0.0", "4:-1.0.0", "4:0.0.2", "4:0.1.1", "4:0.0.-1", "4:1.1.3", "4:1.0.101", "4:2.1.2", "4:2.0.101", "4:5.1.6", "4:5.0.101",
+	"4:3.1.0", "4:3.0.0", "4:3.101.3", "4:3.1.101", "4:3.-1.3", "4:3.1.-3", "4:4.4.0", "4:4.101.1", "4:4.4.101", "4:4.-4.1", "4:3.1.3,6.0.0", "4:6.0.0,3.1.3",
+	"99999999999999999999:", "18446744073709551620:", "4:1.0.99999999999999999999", "4:1.0.18446744073709551619", "4:18446744073709551617.0.3", "4:1.18446744073709551616.3",
+	"4:0.0.1,0.0.1,0.0.1,0.0.1,0.0.1,0.0.1,0.0.1", "4:" + strings.Repeat("0.0.1,", 6), "4:" + strings.Repeat("0.0.1,", 3000) + "0.0.1", "4:" + strings.Repeat(",", 3000), strings.Repeat("4:", 500),
+	strings.Repeat("0", 500) + "4:", "4:1.0." + strings.Repeat("0", 500) + "3", "1-2/4", "1/2", "3of8", "2;1,1;1",
 }
 
 func goodLists() [][]string {
@@ -338,6 +407,30 @@ func stakePools() map[reflect.Type][]reflect.Value {
 	return p
 }
 
+// puzzlePools have clues, puzzles, chains, numbers and texts.
+func puzzlePools() map[reflect.Type][]reflect.Value {
+	p := map[reflect.Type][]reflect.Value{}
+	add := func(v any) { p[reflect.TypeOf(v)] = append(p[reflect.TypeOf(v)], reflect.ValueOf(v)) }
+	for _, c := range append(slices.Clone(goodClues), badClues...) {
+		add(c)
+	}
+	for _, q := range append(goodPuzzles(), badPuzzles()...) {
+		add(q)
+	}
+	for _, c := range append(slices.Clone(badChains), []impl.Chain{
+		{Of: 1}, {Wets: 1, Of: 1}, {Wets: 2, Dries: 1, Of: 4}, {Dries: 3, Of: 5}, {Wets: 3, Of: 5}, {Of: 8}, {Wets: 8, Dries: 8, Of: 8}, {Wets: 2, Dries: 1, Of: 9}, {Wets: 10, Dries: 10, Of: 10},
+	}...) {
+		add(c)
+	}
+	for _, s := range append(slices.Clone(badPuzzleTexts), "1:", "8:", "4:3.1.3,1.0.3", "3:3.1.3,4.3.2", "2:0.0.1", "8:4.100.100,4.100.100,4.100.100,4.100.100,4.100.100,4.100.100") {
+		add(s)
+	}
+	for _, n := range []int{math.MinInt, -1, 0, 1, 2, 3, 4, 5, 6, 7, 8, 9, 100, 101, 9998, 9999, 10000, 10006, 10007, 1 << 40, math.MaxInt} {
+		add(n)
+	}
+	return p
+}
+
 // everyCall calls f with all lists of arguments of its types.
 func everyCall(f reflect.Type, pool map[reflect.Type][]reflect.Value, args []reflect.Value, do func([]reflect.Value)) {
 	if len(args) == f.NumIn() {
@@ -347,6 +440,12 @@ func everyCall(f reflect.Type, pool map[reflect.Type][]reflect.Value, args []ref
 	for _, v := range pool[f.In(len(args))] {
 		everyCall(f, pool, append(args, v), do)
 	}
+}
+
+// cluesIn are those of a puzzle.
+func cluesIn(v reflect.Value) []impl.Clue {
+	p, _ := v.Interface().(impl.Puzzle)
+	return p.Clues
 }
 
 // lists are all lists of numbers in a value.
@@ -375,6 +474,10 @@ func plain(values []reflect.Value) []any {
 			copied = append(copied, numbersOf(lists(v)))
 		case []string:
 			copied = append(copied, append([]string{}, x...))
+		case impl.Puzzle:
+			copied = append(copied, x.Of, append([]impl.Clue{}, x.Clues...))
+		case []impl.Chain:
+			copied = append(copied, append([]impl.Chain{}, x...))
 		default:
 			copied = append(copied, x)
 		}
@@ -397,6 +500,9 @@ func spare(values []reflect.Value) []any {
 		if texts, ok := v.Interface().([]string); ok {
 			copied = append(copied, slices.Clone(texts[:cap(texts)]))
 		}
+		if clues := cluesIn(v); clues != nil {
+			copied = append(copied, slices.Clone(clues[:cap(clues)]))
+		}
 		rows := lists(v)
 		for _, r := range rows[:cap(rows)] {
 			if r != nil {
@@ -413,6 +519,9 @@ func allZero(results []reflect.Value) bool {
 		if s, ok := r.Interface().(impl.States); ok && s.Of == 0 && len(s.Rows) == 0 {
 			continue
 		}
+		if p, ok := r.Interface().(impl.Puzzle); ok && p.Of == 0 && len(p.Clues) == 0 {
+			continue
+		}
 		if !r.IsZero() && !(r.Kind() == reflect.Slice && r.Len() == 0) {
 			return false
 		}
@@ -421,7 +530,8 @@ func allZero(results []reflect.Value) bool {
 }
 
 // scribble fills each list of the results with a number of its own, as far as its memory goes, and tells whether it stays there.
-// Lists of texts, of which no result has two, are filled for the next call, which must not give the same memory out.
+// Lists of texts, of clues and of chains, of which no result has two, are filled for the next call, which must not give
+// the same memory out.
 func scribble(results []reflect.Value) bool {
 	var all [][]int
 	for _, r := range results {
@@ -429,6 +539,14 @@ func scribble(results []reflect.Value) bool {
 			for i := range texts[:cap(texts)] {
 				texts[:cap(texts)][i] = "scribbled"
 			}
+		}
+		clues := cluesIn(r)
+		for i := range clues[:cap(clues)] {
+			clues[:cap(clues)][i] = impl.Clue{Kind: -77, A: -77, B: -77}
+		}
+		chains, _ := r.Interface().([]impl.Chain)
+		for i := range chains[:cap(chains)] {
+			chains[:cap(chains)][i] = impl.Chain{Wets: -77, Dries: -77, Of: -77}
 		}
 		rows := lists(r)
 		all = append(all, rows[:cap(rows)]...)
@@ -497,6 +615,10 @@ func TestPromise11EveryFunctionOfHiddenDaysAcceptsAllArguments(t *testing.T) {
 
 func TestPromise11EveryFunctionOfStakesAcceptsAllArguments(t *testing.T) {
 	mustAcceptAll(t, stakeFunctions, stakePools())
+}
+
+func TestPromise11EveryFunctionOfPuzzlesAcceptsAllArguments(t *testing.T) {
+	mustAcceptAll(t, puzzleFunctions, puzzlePools())
 }
 
 func mustAcceptAll(t *testing.T, called map[string]any, pool map[reflect.Type][]reflect.Value) {
@@ -647,6 +769,9 @@ func TestLimitsAreThoseOfTheDocument(t *testing.T) {
 	}
 	if impl.MaxPurse != 16 || impl.MaxPlays != 6 || impl.MaxStakes != 40 {
 		t.Error(impl.MaxPurse, impl.MaxPlays, impl.MaxStakes)
+	}
+	if impl.MaxHidden != 8 || impl.MaxClues != 6 {
+		t.Error(impl.MaxHidden, impl.MaxClues)
 	}
 }
 
@@ -1302,6 +1427,94 @@ func TestLimitsOfMoneyPassedByOne(t *testing.T) {
 			for _, num := range []int{0, 1, 1000} {
 				mustNotTell(t, impl.NeededPurse, c, 8, num, den)
 			}
+		}
+	}
+}
+
+func TestNoClues(t *testing.T) {
+	for _, c := range badClues {
+		mustNotTell(t, impl.IsClue, 4, c)
+		for _, chain := range allHiddenChains() {
+			mustNotTell(t, impl.DoesFit, c, chain)
+		}
+		for _, p := range goodPuzzles() {
+			mustNotTell(t, impl.AddClue, p, c)
+		}
+	}
+	for _, c := range goodClues {
+		if !impl.IsClue(4, c) {
+			t.Error("no clue", c)
+		}
+	}
+}
+
+func TestNoPuzzles(t *testing.T) {
+	for _, p := range badPuzzles() {
+		for _, f := range []any{
+			impl.IsPuzzle, impl.Solutions, impl.CountSolutions, impl.FirstSolution, impl.SureChain, impl.IsSolved, impl.NeedlessClues, impl.LeftByClues, impl.BestClue,
+			impl.HarderPuzzle, impl.PuzzleText,
+		} {
+			mustNotTell(t, f, p)
+		}
+		for k := -1; k <= len(p.Clues); k++ {
+			mustNotTell(t, impl.DropClue, p, k)
+		}
+		for _, c := range goodClues {
+			mustNotTell(t, impl.AddClue, p, c)
+		}
+	}
+	for _, p := range goodPuzzles() {
+		if !impl.IsPuzzle(p) {
+			t.Error("no puzzle", p)
+		}
+	}
+	for _, text := range badPuzzleTexts {
+		mustNotTell(t, impl.ParsePuzzle, text)
+	}
+}
+
+// Chains may have an Of that is too great for hidden ones.
+func TestNoHiddenChains(t *testing.T) {
+	bad := slices.Clone(badChains)
+	for _, c := range allChains() {
+		if c.Of > impl.MaxHidden {
+			bad = append(bad, c)
+		}
+	}
+	for _, chain := range bad {
+		for _, c := range goodClues {
+			mustNotTell(t, impl.DoesFit, c, chain)
+		}
+		for many := range impl.MaxClues + 1 {
+			mustNotTell(t, impl.MakePuzzle, chain, many, 0)
+			mustNotTell(t, impl.MakePuzzle, chain, many, 9999)
+		}
+	}
+}
+
+func TestLimitsOfPuzzlesPassedByOne(t *testing.T) {
+	for _, chain := range allHiddenChains() {
+		for _, many := range []int{math.MinInt, -2, -1, impl.MaxClues + 1, 9, 1 << 40, math.MaxInt} {
+			mustNotTell(t, impl.MakePuzzle, chain, many, 0)
+			mustNotTell(t, impl.MakePuzzle, chain, many, 9999)
+		}
+		for _, seed := range []int{math.MinInt, -10007, -1, 10000, 10006, 10007, 1 << 40, math.MaxInt} {
+			mustNotTell(t, impl.MakePuzzle, chain, 0, seed)
+			mustNotTell(t, impl.MakePuzzle, chain, impl.MaxClues, seed)
+		}
+	}
+	for _, p := range goodPuzzles() {
+		for _, k := range []int{math.MinInt, -2, -1, len(p.Clues), len(p.Clues) + 1, cap(p.Clues), 64, math.MaxInt} {
+			mustNotTell(t, impl.DropClue, p, k)
+		}
+		for many := len(p.Clues); many < impl.MaxClues; many++ {
+			more, ok := impl.AddClue(p, goodClues[many])
+			if p = more; !ok || len(p.Clues) != many+1 {
+				t.Fatal("with", goodClues[many], "it is", p, ok)
+			}
+		}
+		for _, c := range goodClues {
+			mustNotTell(t, impl.AddClue, p, c)
 		}
 	}
 }
