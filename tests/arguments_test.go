@@ -13,7 +13,7 @@ import (
 
 // The tests of promise 11: every function accepts all arguments without panicking and modifies none of them.
 
-// functions are the exported ones of the chapters that have landed, but those of words, of hidden days, of stakes and of puzzles.
+// functions are the exported ones, but those of words, of hidden days, of stakes, of puzzles and of the console.
 var functions = map[string]any{
 	"IsChain": impl.IsChain, "AreDays": impl.AreDays, "ChanceNext": impl.ChanceNext, "ChanceOfDays": impl.ChanceOfDays,
 	"ChanceLater": impl.ChanceLater, "LongShare": impl.LongShare, "ChanceOfAny": impl.ChanceOfAny, "MeanRun": impl.MeanRun,
@@ -73,6 +73,12 @@ var puzzleFunctions = map[string]any{
 	"FirstSolution": impl.FirstSolution, "SureChain": impl.SureChain, "IsSolved": impl.IsSolved, "NeedlessClues": impl.NeedlessClues,
 	"DropClue": impl.DropClue, "AddClue": impl.AddClue, "LeftByClues": impl.LeftByClues, "BestClue": impl.BestClue, "HarderPuzzle": impl.HarderPuzzle,
 	"MakePuzzle": impl.MakePuzzle, "PuzzleText": impl.PuzzleText, "ParsePuzzle": impl.ParsePuzzle,
+}
+
+// consoleFunctions are called with desks, lines and scripts. FirstDesk is not among them, as it takes no argument and
+// never fails.
+var consoleFunctions = map[string]any{
+	"IsDesk": impl.IsDesk, "DeskLine": impl.DeskLine, "RunScript": impl.RunScript, "DeskAfter": impl.DeskAfter, "FailedLines": impl.FailedLines,
 }
 
 var badChains = []impl.Chain{
@@ -232,6 +238,36 @@ var badPuzzleTexts = []string{
 	"99999999999999999999:", "18446744073709551620:", "4:1.0.99999999999999999999", "4:1.0.18446744073709551619", "4:18446744073709551617.0.3", "4:1.18446744073709551616.3",
 	"4:0.0.1,0.0.1,0.0.1,0.0.1,0.0.1,0.0.1,0.0.1", "4:" + strings.Repeat("0.0.1,", 6), "4:" + strings.Repeat("0.0.1,", 3000) + "0.0.1", "4:" + strings.Repeat(",", 3000), strings.Repeat("4:", 500),
 	strings.Repeat("0", 500) + "4:", "4:1.0." + strings.Repeat("0", 500) + "3", "1-2/4", "1/2", "3of8", "2;1,1;1",
+}
+
+// badScripts miss the newline of their last line, or have too many lines or bytes.
+var badScripts = []string{
+	"show", "show\nshow", "\nshow", "show\n\x00", "show\n ", "show\r", " ", "\x00", "\xff", "fly", "turn\nturn\nturn", strings.Repeat("\n", impl.MaxLines-1) + "show", strings.Repeat("\n", impl.MaxLines) + "show",
+	strings.Repeat("\n", impl.MaxLines+1), strings.Repeat("turn\n", impl.MaxLines+1), strings.Repeat("\n", impl.MaxScript), strings.Repeat("\n", impl.MaxScript+1), strings.Repeat("turn\n", 500),
+	strings.Repeat("x", impl.MaxScript), strings.Repeat("x", impl.MaxScript) + "\n", strings.Repeat(" ", impl.MaxScript) + "\n", "show\n" + strings.Repeat("x", impl.MaxScript-5) + "\n",
+	strings.Repeat("x", impl.MaxScript+1), strings.Repeat(strings.Repeat("x", impl.MaxScript/impl.MaxLines-1)+"\n", impl.MaxLines-1) + strings.Repeat("x", impl.MaxScript/impl.MaxLines) + "\n",
+}
+
+// badLines have a newline, or too many bytes.
+var badLines = []string{
+	"\n", "\n\n", "show\n", "\nshow", "sh\now", "show\nshow", "turn\nturn\n", "days d\nw", "fair \n", "fair ht\n", "chain 1-2/4\n", "fly\n", "\r\n", "\x00\n",
+	strings.Repeat("x", impl.MaxScript+1), strings.Repeat(" ", impl.MaxScript+1), "fair " + strings.Repeat("h", impl.MaxScript-4), strings.Repeat("x", impl.MaxScript-1) + "\n", strings.Repeat("turn ", 2000),
+}
+
+// badDesks have one part or several that are none.
+func badDesks() []impl.Desk {
+	first := impl.FirstDesk()
+	list := []impl.Desk{{}, {Chain: first.Chain}, {Coin: first.Coin}, {Hidden: first.Hidden}}
+	for _, c := range badChains {
+		list = append(list, impl.Desk{Chain: c, Coin: first.Coin, Hidden: first.Hidden}, impl.Desk{Chain: c})
+	}
+	for _, c := range badCoins {
+		list = append(list, impl.Desk{Chain: first.Chain, Coin: c, Hidden: first.Hidden}, impl.Desk{Coin: c})
+	}
+	for _, h := range badHidden() {
+		list = append(list, impl.Desk{Chain: first.Chain, Coin: first.Coin, Hidden: h}, impl.Desk{Chain: h.Chain, Coin: first.Coin, Hidden: h})
+	}
+	return list
 }
 
 func goodLists() [][]string {
@@ -431,6 +467,33 @@ func puzzlePools() map[reflect.Type][]reflect.Value {
 	return p
 }
 
+// consolePools have desks, lines and scripts.
+func consolePools() map[reflect.Type][]reflect.Value {
+	p := map[reflect.Type][]reflect.Value{}
+	add := func(v any) { p[reflect.TypeOf(v)] = append(p[reflect.TypeOf(v)], reflect.ValueOf(v)) }
+	third := impl.Chain{Wets: 1, Dries: 3, Of: 3}
+	for _, d := range append(badDesks(), []impl.Desk{
+		impl.FirstDesk(), {Chain: third, Coin: impl.Coin{Heads: 1, Of: 3}, Hidden: hidden(third, third)}, {Chain: impl.Chain{Of: 10}, Coin: impl.Coin{Heads: 9, Of: 10}, Hidden: hidden(third, impl.Chain{Of: 1})},
+	}...) {
+		add(d)
+	}
+	for _, s := range append(slices.Clone(badScripts), badLines...) {
+		add(s)
+	}
+	for _, lines := range manyScripts()[:100] {
+		add(strings.Join(lines, "\n"))
+		add(strings.Join(append(lines, ""), "\n"))
+	}
+	lines := append(someLines(), "", " ", "fly", "places hh ", "roll 6 ", "later d w", "later d w 999999", "later d w 1000000", "chain 1-2/11", "h", "1-2/4", "\xff\xfe", "fair \xff", strings.Repeat(" ", impl.MaxScript), strings.Repeat("x", impl.MaxScript))
+	for i, line := range lines {
+		if i%7 == 0 || i > len(lines)-20 {
+			add(line)
+			add(line + "\n")
+		}
+	}
+	return p
+}
+
 // everyCall calls f with all lists of arguments of its types.
 func everyCall(f reflect.Type, pool map[reflect.Type][]reflect.Value, args []reflect.Value, do func([]reflect.Value)) {
 	if len(args) == f.NumIn() {
@@ -621,6 +684,10 @@ func TestPromise11EveryFunctionOfPuzzlesAcceptsAllArguments(t *testing.T) {
 	mustAcceptAll(t, puzzleFunctions, puzzlePools())
 }
 
+func TestPromise11EveryFunctionOfTheConsoleAcceptsAllArguments(t *testing.T) {
+	mustAcceptAll(t, consoleFunctions, consolePools())
+}
+
 func mustAcceptAll(t *testing.T, called map[string]any, pool map[reflect.Type][]reflect.Value) {
 	for name, f := range called {
 		t.Run(name, func(t *testing.T) {
@@ -772,6 +839,9 @@ func TestLimitsAreThoseOfTheDocument(t *testing.T) {
 	}
 	if impl.MaxHidden != 8 || impl.MaxClues != 6 {
 		t.Error(impl.MaxHidden, impl.MaxClues)
+	}
+	if impl.MaxScript != 3000 || impl.MaxLines != 50 {
+		t.Error(impl.MaxScript, impl.MaxLines)
 	}
 }
 
